@@ -1,0 +1,267 @@
+package expr_test
+
+import (
+	"fmt"
+	"math"
+	"slices"
+	"strings"
+	"testing"
+
+	"puppeteer/api"
+	"puppeteer/expr"
+	"puppeteer/lex"
+)
+
+func number(n int) api.Expr { return api.Expr{Kind: api.EInt, N: n} }
+
+func truth(n int) api.Expr { return api.Expr{Kind: api.EBool, N: n} }
+
+func name(s string) api.Expr { return api.Expr{Kind: api.EName, Name: s} }
+
+func sym(s string) api.Expr { return api.Expr{Kind: api.ESym, Name: s} }
+
+func of(kind int, kids ...api.Expr) api.Expr { return api.Expr{Kind: kind, Kids: kids} }
+
+func anInt(n int) api.Token { return api.Token{Kind: api.TInt, N: n} }
+
+func aName(s string) api.Token { return api.Token{Kind: api.TName, Text: s} }
+
+func aSign(s string) api.Token { return api.Token{Kind: api.TSign, Text: s} }
+
+func aWord(s string) api.Token { return api.Token{Kind: api.TWord, Text: s} }
+
+// longest is a name that is as long as a name may be.
+func longest() string { return strings.Repeat("n", api.MaxName) }
+
+// tokens returns the tokens of a text, with the TEnd.
+func tokens(t *testing.T, text string) []api.Token {
+	t.Helper()
+	l, at, err := lex.Tokens([]byte(text))
+	if err != api.OK {
+		t.Fatalf("Tokens of %.200q: error %d at %d", text, err, at)
+	}
+	return l
+}
+
+// some returns the tokens of a text, without the TEnd.
+func some(t *testing.T, text string) []api.Token {
+	t.Helper()
+	l := tokens(t, text)
+	return l[:len(l)-1]
+}
+
+// same tells whether two expressions are equal.
+func same(x, y api.Expr) bool {
+	return x.Kind == y.Kind && x.N == y.N && x.Name == y.Name && slices.EqualFunc(x.Kids, y.Kids, same)
+}
+
+// clone copies an expression with all that is in it.
+func clone(x api.Expr) api.Expr {
+	var kids []api.Expr
+	for _, kid := range x.Kids {
+		kids = append(kids, clone(kid))
+	}
+	x.Kids = kids
+	return x
+}
+
+func depth(x api.Expr) int {
+	deepest := 0
+	for _, kid := range x.Kids {
+		deepest = max(deepest, depth(kid))
+	}
+	return deepest + 1
+}
+
+// show is a list of tokens in print, of which only the beginning counts if it is
+// long.
+func show(l []api.Token) string {
+	var b strings.Builder
+	for _, token := range l[:min(len(l), 200)] {
+		switch token.Kind {
+		case api.TEnd:
+			b.WriteString("END ")
+		case api.TInt:
+			fmt.Fprintf(&b, "%d ", token.N)
+		case api.TName, api.TWord, api.TSign:
+			fmt.Fprintf(&b, "%s ", token.Text)
+		default:
+			fmt.Fprintf(&b, "%v ", token)
+		}
+	}
+	return fmt.Sprintf("%s(%d tokens)", b.String(), len(l))
+}
+
+// want checks what Parse answers.
+func want(t *testing.T, l []api.Token, at int, x api.Expr, to int, err api.Errno) {
+	t.Helper()
+	got, gotTo, gotErr := expr.Parse(l, at)
+	if gotTo != to || gotErr != err || !same(got, x) {
+		t.Fatalf("Parse of %s from %d: %.300s, %d, error %d; want %.300s, %d, error %d", show(l), at, fmt.Sprint(got), gotTo, gotErr, fmt.Sprint(x), to, err)
+	}
+	if err == api.OK && !expr.Right(got) {
+		t.Fatalf("Parse of %s from %d is not valid", show(l), at)
+	}
+}
+
+// wantModel checks what Parse answers against the model.
+func wantModel(t *testing.T, l []api.Token, at int) {
+	t.Helper()
+	x, to, err := parse(l, at)
+	want(t, l, at, x, to, err)
+}
+
+// wantGrammar checks the end, or the error, of what is not too deep against the
+// rules alone.
+func wantGrammar(t *testing.T, l []api.Token) {
+	t.Helper()
+	wantTo, wantErr := len(l), api.ErrSyntax
+	if len(l) > 0 {
+		to, whole := grammatical(l)
+		wantTo = to
+		if whole {
+			wantErr = api.OK
+		}
+	}
+	if _, to, err := expr.Parse(l, 0); to != wantTo || err != wantErr {
+		t.Fatalf("Parse of %s: %d, error %d; by the rules %d, error %d", show(l), to, err, wantTo, wantErr)
+	}
+}
+
+// everywhere checks what Parse answers for tokens from the first one on, also if
+// others stand ahead of them, and if they are written another way.
+func everywhere(t *testing.T, l []api.Token, x api.Expr, to int, err api.Errno) {
+	t.Helper()
+	want(t, l, 0, x, to, err)
+	want(t, other(l), 0, x, to, err)
+	for _, ahead := range []string{"1", "a +", "((not", "1 == 2 ==", "seq { far", strings.Repeat("(", api.MaxDeep)} {
+		first := some(t, ahead)
+		want(t, slices.Concat(first, l), len(first), x, len(first)+to, err)
+	}
+}
+
+// other returns tokens that mean the same as l: words and signs are of the other
+// kind, and the fields that do not count are not zero.
+func other(l []api.Token) []api.Token {
+	l = slices.Clone(l)
+	for i := range l {
+		token := &l[i]
+		token.At = -7 * i
+		switch token.Kind {
+		case api.TWord:
+			token.Kind, token.N = api.TSign, i-3
+		case api.TSign:
+			token.Kind, token.N = api.TWord, i-3
+		case api.TName:
+			token.N = math.MinInt
+		case api.TInt:
+			token.Text = []string{")", "a", "not", "1"}[i%4]
+		case api.TEnd:
+			token.Text, token.N = []string{"+", "(", "1", "and", ","}[i%5], i-3
+		}
+	}
+	return l
+}
+
+// wantWhole checks that a text is an expression, with its end, without it, and
+// with other tokens behind it that cannot continue it.
+func wantWhole(t *testing.T, text string, x api.Expr) {
+	t.Helper()
+	l := some(t, text)
+	n := len(l)
+	everywhere(t, l, x, n, api.OK)
+	everywhere(t, tokens(t, text), x, n, api.OK)
+	for _, behind := range []string{";", ")", ",", "}", ":", "a", "7", "'a", "true", "not", "self", "(1)", "{", ":=", "far"} {
+		want(t, slices.Concat(l, tokens(t, behind)), 0, x, n, api.OK)
+	}
+}
+
+// wantPart checks that the first n tokens of a text are the longest expression.
+func wantPart(t *testing.T, text string, x api.Expr, n int) {
+	t.Helper()
+	everywhere(t, tokens(t, text), x, n, api.OK)
+	everywhere(t, some(t, text), x, n, api.OK)
+}
+
+// wantWrong checks that the first error of a text is at its n-th token.
+func wantWrong(t *testing.T, text string, n int, err api.Errno) {
+	t.Helper()
+	everywhere(t, tokens(t, text), api.Expr{}, n, err)
+	everywhere(t, some(t, text), api.Expr{}, n, err)
+}
+
+// signs lists the binary operators, the weakest first.
+func signs() []string { return strings.Fields("or and == < + - * /") }
+
+// words lists the words of one operand.
+func words() []string { return strings.Fields("not re im turn") }
+
+// everyToken lists a token of each sort, and some that are of none.
+func everyToken() []api.Token {
+	var all []api.Token
+	for _, s := range strings.Fields("key tree domain own shared int bool ref sym point seq sel mseq msel par not repeat if set do use pick plan ok fail wait var act cost need make goal true false self time and or re im turn far") {
+		all = append(all, aWord(s))
+	}
+	for _, s := range strings.Fields(":= <= >= == { } ( ) ; : = < + - * / , '") {
+		all = append(all, aSign(s))
+	}
+	return append(all, anInt(0), anInt(5), anInt(math.MaxInt), aName("b"), aName("times"), api.Token{},
+		api.Token{Kind: 5, N: 5, Text: "a"}, api.Token{Kind: -1, N: 1, Text: "("}, api.Token{Kind: math.MaxInt, Text: "true"},
+		aSign(""), aWord(""), aSign("a"), aWord("1"), aSign("&"), aWord("Not"), aWord("not "), aSign("(("))
+}
+
+// dice are numbers that look like chance and are always the same.
+type dice uint64
+
+func (d *dice) roll(n int) int {
+	*d = *d*6364136223846793005 + 1442695040888963407
+	return int(uint64(*d)>>33) % n
+}
+
+func pick[T any](d *dice, list ...T) T { return list[d.roll(len(list))] }
+
+// leaf is a valid expression without Kids.
+func (d *dice) leaf() api.Expr {
+	return pick(d, number(pick(d, 0, 1, -1, 7, -45, 1000, math.MaxInt, -math.MaxInt)), number(d.roll(1<<30)-1<<29), truth(0), truth(1),
+		name(pick(d, "a", "B", "x_1", "selfish", "Not", longest())), sym(pick(d, "a", "B", "times", "Far", longest())), of(api.ESelf), of(api.ETime))
+}
+
+// valid is a valid expression of this depth.
+func (d *dice) valid(deep int) api.Expr {
+	if deep == 1 {
+		return d.leaf()
+	}
+	kind, kid := api.EAdd+d.roll(api.EFar-api.EAdd+1), d.valid(deep-1)
+	switch kind {
+	case api.ENot, api.ERe, api.EIm, api.ETurn:
+		return of(kind, kid)
+	}
+	other := d.valid(1 + d.roll(min(deep-1, 4)))
+	if d.roll(2) == 0 {
+		return of(kind, kid, other)
+	}
+	return of(kind, other, kid)
+}
+
+// text is the text of an expression that is built up in this many steps, with
+// parentheses or without.
+func (d *dice) text(steps int) string {
+	if steps == 0 {
+		return pick(d, "1", "- 5", "0", "true", "false", "a", "bc", "'a", "'b_", "self", "time")
+	}
+	one, other := d.text(steps-1), d.text(d.roll(min(steps, 3)))
+	if d.roll(2) == 0 {
+		one, other = other, one
+	}
+	switch d.roll(9) {
+	case 0:
+		return "(" + one + ")"
+	case 1:
+		return "(" + one + ", " + other + ")"
+	case 2:
+		return "far(" + one + ", " + other + ")"
+	case 3, 4:
+		return pick(d, words()...) + " " + one
+	}
+	return one + " " + pick(d, signs()...) + " " + other
+}
