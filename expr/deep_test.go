@@ -87,7 +87,7 @@ func TestP1001NestingIsLimited(t *testing.T) {
 			wantNesting(t, append([]wrap{one}, slices.Repeat([]wrap{two}, api.MaxDeep-2)...))
 		}
 	}
-	d := dice(40)
+	d := dice{40}
 	for range 100 {
 		var list []wrap
 		for range api.MaxDeep - 1 {
@@ -265,13 +265,13 @@ func TestP1001TheFirstOfTwoErrorsCounts(t *testing.T) {
 }
 
 func TestP1001RandomDeepTexts(t *testing.T) {
-	d := dice(4040)
+	d := dice{4040}
 	for range 3000 {
-		l := tokens(t, d.text(api.MaxDeep-4+d.roll(24)))
+		l := tokens(t, d.text(api.MaxDeep-4+d.Roll(24)))
 		wantModel(t, l, 0)
-		wantModel(t, l, d.roll(len(l)))
-		for range d.roll(3) {
-			l[d.roll(len(l))] = pick(&d, everyToken()...)
+		wantModel(t, l, d.Roll(len(l)))
+		for range d.Roll(3) {
+			l[d.Roll(len(l))] = pick(&d, everyToken()...)
 			wantModel(t, l, 0)
 		}
 	}

@@ -10,6 +10,7 @@ import (
 	"puppeteer/api"
 	"puppeteer/expr"
 	"puppeteer/lex"
+	"puppeteer/samples"
 )
 
 func number(n int) api.Expr { return api.Expr{Kind: api.EInt, N: n} }
@@ -50,11 +51,6 @@ func some(t *testing.T, text string) []api.Token {
 	return l[:len(l)-1]
 }
 
-// same tells whether two expressions are equal.
-func same(x, y api.Expr) bool {
-	return x.Kind == y.Kind && x.N == y.N && x.Name == y.Name && slices.EqualFunc(x.Kids, y.Kids, same)
-}
-
 // clone copies an expression with all that is in it.
 func clone(x api.Expr) api.Expr {
 	var kids []api.Expr
@@ -73,34 +69,15 @@ func depth(x api.Expr) int {
 	return deepest + 1
 }
 
-// show is a list of tokens in print, of which only the beginning counts if it is
-// long.
-func show(l []api.Token) string {
-	var b strings.Builder
-	for _, token := range l[:min(len(l), 200)] {
-		switch token.Kind {
-		case api.TEnd:
-			b.WriteString("END ")
-		case api.TInt:
-			fmt.Fprintf(&b, "%d ", token.N)
-		case api.TName, api.TWord, api.TSign:
-			fmt.Fprintf(&b, "%s ", token.Text)
-		default:
-			fmt.Fprintf(&b, "%v ", token)
-		}
-	}
-	return fmt.Sprintf("%s(%d tokens)", b.String(), len(l))
-}
-
 // want checks what Parse answers.
 func want(t *testing.T, l []api.Token, at int, x api.Expr, to int, err api.Errno) {
 	t.Helper()
 	got, gotTo, gotErr := expr.Parse(l, at)
-	if gotTo != to || gotErr != err || !same(got, x) {
-		t.Fatalf("Parse of %s from %d: %.300s, %d, error %d; want %.300s, %d, error %d", show(l), at, fmt.Sprint(got), gotTo, gotErr, fmt.Sprint(x), to, err)
+	if gotTo != to || gotErr != err || !samples.SameExpr(got, x) {
+		t.Fatalf("Parse of %s from %d: %.300s, %d, error %d; want %.300s, %d, error %d", samples.Show(l), at, fmt.Sprint(got), gotTo, gotErr, fmt.Sprint(x), to, err)
 	}
 	if err == api.OK && !expr.Right(got) {
-		t.Fatalf("Parse of %s from %d is not valid", show(l), at)
+		t.Fatalf("Parse of %s from %d is not valid", samples.Show(l), at)
 	}
 }
 
@@ -124,7 +101,7 @@ func wantGrammar(t *testing.T, l []api.Token) {
 		}
 	}
 	if _, to, err := expr.Parse(l, 0); to != wantTo || err != wantErr {
-		t.Fatalf("Parse of %s: %d, error %d; by the rules %d, error %d", show(l), to, err, wantTo, wantErr)
+		t.Fatalf("Parse of %s: %d, error %d; by the rules %d, error %d", samples.Show(l), to, err, wantTo, wantErr)
 	}
 }
 
@@ -133,34 +110,11 @@ func wantGrammar(t *testing.T, l []api.Token) {
 func everywhere(t *testing.T, l []api.Token, x api.Expr, to int, err api.Errno) {
 	t.Helper()
 	want(t, l, 0, x, to, err)
-	want(t, other(l), 0, x, to, err)
+	want(t, samples.Other(l), 0, x, to, err)
 	for _, ahead := range []string{"1", "a +", "((not", "1 == 2 ==", "seq { far", strings.Repeat("(", api.MaxDeep)} {
 		first := some(t, ahead)
 		want(t, slices.Concat(first, l), len(first), x, len(first)+to, err)
 	}
-}
-
-// other returns tokens that mean the same as l: words and signs are of the other
-// kind, and the fields that do not count are not zero.
-func other(l []api.Token) []api.Token {
-	l = slices.Clone(l)
-	for i := range l {
-		token := &l[i]
-		token.At = -7 * i
-		switch token.Kind {
-		case api.TWord:
-			token.Kind, token.N = api.TSign, i-3
-		case api.TSign:
-			token.Kind, token.N = api.TWord, i-3
-		case api.TName:
-			token.N = math.MinInt
-		case api.TInt:
-			token.Text = []string{")", "a", "not", "1"}[i%4]
-		case api.TEnd:
-			token.Text, token.N = []string{"+", "(", "1", "and", ","}[i%5], i-3
-		}
-	}
-	return l
 }
 
 // wantWhole checks that a text is an expression, with its end, without it, and
@@ -198,31 +152,19 @@ func words() []string { return strings.Fields("not re im turn") }
 
 // everyToken lists a token of each sort, and some that are of none.
 func everyToken() []api.Token {
-	var all []api.Token
-	for _, s := range strings.Fields("key tree domain own shared int bool ref sym point seq sel mseq msel par not repeat if set do use pick plan ok fail wait var act cost need make goal true false self time and or re im turn far") {
-		all = append(all, aWord(s))
-	}
-	for _, s := range strings.Fields(":= <= >= == { } ( ) ; : = < + - * / , '") {
-		all = append(all, aSign(s))
-	}
-	return append(all, anInt(0), anInt(5), anInt(math.MaxInt), aName("b"), aName("times"), api.Token{},
+	return append(samples.Tokens(), api.Token{},
 		api.Token{Kind: 5, N: 5, Text: "a"}, api.Token{Kind: -1, N: 1, Text: "("}, api.Token{Kind: math.MaxInt, Text: "true"},
 		aSign(""), aWord(""), aSign("a"), aWord("1"), aSign("&"), aWord("Not"), aWord("not "), aSign("(("))
 }
 
-// dice are numbers that look like chance and are always the same.
-type dice uint64
+// dice make expressions.
+type dice struct{ samples.Dice }
 
-func (d *dice) roll(n int) int {
-	*d = *d*6364136223846793005 + 1442695040888963407
-	return int(uint64(*d)>>33) % n
-}
-
-func pick[T any](d *dice, list ...T) T { return list[d.roll(len(list))] }
+func pick[T any](d *dice, list ...T) T { return samples.Pick(&d.Dice, list...) }
 
 // leaf is a valid expression without Kids.
 func (d *dice) leaf() api.Expr {
-	return pick(d, number(pick(d, 0, 1, -1, 7, -45, 1000, math.MaxInt, -math.MaxInt)), number(d.roll(1<<30)-1<<29), truth(0), truth(1),
+	return pick(d, number(pick(d, 0, 1, -1, 7, -45, 1000, math.MaxInt, -math.MaxInt)), number(d.Roll(1<<30)-1<<29), truth(0), truth(1),
 		name(pick(d, "a", "B", "x_1", "selfish", "Not", longest())), sym(pick(d, "a", "B", "times", "Far", longest())), of(api.ESelf), of(api.ETime))
 }
 
@@ -231,13 +173,13 @@ func (d *dice) valid(deep int) api.Expr {
 	if deep == 1 {
 		return d.leaf()
 	}
-	kind, kid := api.EAdd+d.roll(api.EFar-api.EAdd+1), d.valid(deep-1)
+	kind, kid := api.EAdd+d.Roll(api.EFar-api.EAdd+1), d.valid(deep-1)
 	switch kind {
 	case api.ENot, api.ERe, api.EIm, api.ETurn:
 		return of(kind, kid)
 	}
-	other := d.valid(1 + d.roll(min(deep-1, 4)))
-	if d.roll(2) == 0 {
+	other := d.valid(1 + d.Roll(min(deep-1, 4)))
+	if d.Roll(2) == 0 {
 		return of(kind, kid, other)
 	}
 	return of(kind, other, kid)
@@ -249,11 +191,11 @@ func (d *dice) text(steps int) string {
 	if steps == 0 {
 		return pick(d, "1", "- 5", "0", "true", "false", "a", "bc", "'a", "'b_", "self", "time")
 	}
-	one, other := d.text(steps-1), d.text(d.roll(min(steps, 3)))
-	if d.roll(2) == 0 {
+	one, other := d.text(steps-1), d.text(d.Roll(min(steps, 3)))
+	if d.Roll(2) == 0 {
 		one, other = other, one
 	}
-	switch d.roll(9) {
+	switch d.Roll(9) {
 	case 0:
 		return "(" + one + ")"
 	case 1:

@@ -8,6 +8,7 @@ import (
 
 	"puppeteer/api"
 	"puppeteer/expr"
+	"puppeteer/samples"
 )
 
 // plain lists primary and unary expressions that are written without parentheses.
@@ -275,7 +276,7 @@ func TestP1001EachTokenReplacedLeftOutOrDoubled(t *testing.T) {
 			for _, changed := range lists {
 				wantModel(t, changed, 0)
 				wantGrammar(t, changed)
-				wantModel(t, other(changed), 0)
+				wantModel(t, samples.Other(changed), 0)
 			}
 		}
 	}
@@ -302,7 +303,7 @@ func TestP1001WordsAndSignsOfEitherKind(t *testing.T) {
 				wantModel(t, l, 0)
 				wantGrammar(t, l)
 				if _, to, err := expr.Parse(l, 0); err == api.OK && to == len(l)-1 && kind != api.TInt {
-					t.Fatalf("Parse of %s takes the token %v", show(l), l[i])
+					t.Fatalf("Parse of %s takes the token %v", samples.Show(l), l[i])
 				}
 			}
 			l[i] = token
@@ -339,17 +340,17 @@ func TestP1001EveryShortList(t *testing.T) {
 }
 
 func TestP1001RandomTexts(t *testing.T) {
-	d := dice(1001)
+	d := dice{1001}
 	for i := range 20000 {
-		l := tokens(t, d.text(d.roll(8)))
+		l := tokens(t, d.text(d.Roll(8)))
 		wantModel(t, l, 0)
-		for range d.roll(4) {
-			at := d.roll(len(l))
+		for range d.Roll(4) {
+			at := d.Roll(len(l))
 			token := pick(&d, everyToken()...)
-			if d.roll(2) == 0 {
-				token = l[d.roll(len(l))]
+			if d.Roll(2) == 0 {
+				token = l[d.Roll(len(l))]
 			}
-			switch d.roll(4) {
+			switch d.Roll(4) {
 			case 0:
 				l = slices.Delete(l, at, at+1)
 				l = append(l, token)
@@ -359,7 +360,7 @@ func TestP1001RandomTexts(t *testing.T) {
 				l[at] = token
 			}
 			wantModel(t, l, 0)
-			wantModel(t, l, d.roll(len(l)))
+			wantModel(t, l, d.Roll(len(l)))
 		}
 		if i%20 == 0 && len(l) < 40 {
 			wantGrammar(t, l)

@@ -12,6 +12,7 @@ import (
 	"puppeteer/api"
 	"puppeteer/expr"
 	"puppeteer/lex"
+	"puppeteer/samples"
 )
 
 // wantPrint checks what Right and Print answer; "" is the text of an expression
@@ -187,7 +188,7 @@ func TestP1002ANameIsALexName(t *testing.T) {
 }
 
 func TestP1002DepthIsLimited(t *testing.T) {
-	d := dice(1002)
+	d := dice{1002}
 	for range 200 {
 		for deep := 1; deep <= api.MaxDeep; deep++ {
 			x := d.valid(deep)
@@ -263,7 +264,7 @@ func inside(x *api.Expr, see func(x *api.Expr)) {
 }
 
 func TestP1002AnErrorDeepInside(t *testing.T) {
-	d := dice(2)
+	d := dice{2}
 	list := []api.Expr{d.valid(5), d.valid(12), d.valid(api.MaxDeep), d.valid(api.MaxDeep)}
 	x, _ := large()
 	for _, x := range append(list, x) {
@@ -299,7 +300,7 @@ func wantBack(t *testing.T, x api.Expr) {
 	l := tokens(t, text)
 	want(t, l, 0, x, len(l)-1, api.OK)
 	want(t, l[:len(l)-1], 0, x, len(l)-1, api.OK)
-	want(t, other(l), 0, x, len(l)-1, api.OK)
+	want(t, samples.Other(l), 0, x, len(l)-1, api.OK)
 }
 
 func TestP1003ParseOfPrintIsTheExpression(t *testing.T) {
@@ -308,7 +309,7 @@ func TestP1003ParseOfPrintIsTheExpression(t *testing.T) {
 	}
 	x, _ := large()
 	wantBack(t, x)
-	d := dice(1003)
+	d := dice{1003}
 	for range 200 {
 		for deep := 1; deep <= api.MaxDeep; deep++ {
 			wantBack(t, d.valid(deep))
@@ -340,12 +341,12 @@ func TestP1003EveryPairOfKinds(t *testing.T) {
 }
 
 func TestP1003PrintOfParseStaysTheSame(t *testing.T) {
-	d := dice(31)
+	d := dice{31}
 	good := 0
 	for range 20000 {
-		l := tokens(t, d.text(d.roll(16)))
-		for range d.roll(3) {
-			l[d.roll(len(l))] = pick(&d, everyToken()...)
+		l := tokens(t, d.text(d.Roll(16)))
+		for range d.Roll(3) {
+			l[d.Roll(len(l))] = pick(&d, everyToken()...)
 		}
 		x, _, err := expr.Parse(l, 0)
 		if err != api.OK {
@@ -364,18 +365,18 @@ func TestP1003PrintOfParseStaysTheSame(t *testing.T) {
 }
 
 func TestP1003ArgumentsStayAsTheyAre(t *testing.T) {
-	d := dice(8)
+	d := dice{8}
 	for range 500 {
-		l := append(tokens(t, d.text(d.roll(9))), anInt(1), aName("spare"))
+		l := append(tokens(t, d.text(d.Roll(9))), anInt(1), aName("spare"))
 		whole := slices.Clone(l)
 		part := l[:len(l)-2]
 		for at := -1; at <= len(part); at++ {
 			expr.Parse(part, at)
 		}
 		if !slices.Equal(l, whole) {
-			t.Fatalf("Parse makes %s of %s", show(l), show(whole))
+			t.Fatalf("Parse makes %s of %s", samples.Show(l), samples.Show(whole))
 		}
-		x := d.valid(1 + d.roll(9))
+		x := d.valid(1 + d.Roll(9))
 		inside(&x, func(part *api.Expr) {
 			spare := append(slices.Clone(part.Kids), name("spare"), name("spare"))
 			part.Kids = spare[:len(part.Kids)]
@@ -385,20 +386,20 @@ func TestP1003ArgumentsStayAsTheyAre(t *testing.T) {
 		expr.Print(x)
 		inside(&x, func(part *api.Expr) {
 			n := len(part.Kids)
-			if spare := part.Kids[n : n+2]; !same(spare[0], name("spare")) || !same(spare[1], name("spare")) {
+			if spare := part.Kids[n : n+2]; !samples.SameExpr(spare[0], name("spare")) || !samples.SameExpr(spare[1], name("spare")) {
 				t.Fatalf("the spare capacity is %v", spare)
 			}
 		})
-		if !same(x, was) {
+		if !samples.SameExpr(x, was) {
 			t.Fatalf("%v has become %v", was, x)
 		}
 	}
 }
 
 func TestP1003ResultsStayAsTheyAre(t *testing.T) {
-	d := dice(9)
+	d := dice{9}
 	for range 500 {
-		l := tokens(t, d.text(1+d.roll(9)))
+		l := tokens(t, d.text(1+d.Roll(9)))
 		first, to, err := expr.Parse(l, 0)
 		if err != api.OK {
 			continue
@@ -408,23 +409,23 @@ func TestP1003ResultsStayAsTheyAre(t *testing.T) {
 		for i := range l {
 			l[i] = api.Token{Kind: api.TWord, N: 9, Text: "not"}
 		}
-		if !same(first, was) || !same(second, was) {
-			t.Fatalf("Parse keeps the tokens of %s", show(again))
+		if !samples.SameExpr(first, was) || !samples.SameExpr(second, was) {
+			t.Fatalf("Parse keeps the tokens of %s", samples.Show(again))
 		}
 		// A result is the caller's: neither another one nor a part of it changes with it.
 		inside(&first, func(part *api.Expr) {
 			_ = append(part.Kids, name("more"), name("more"))
 		})
-		if !same(first, was) {
-			t.Fatalf("parts of a result of %s share memory", show(again))
+		if !samples.SameExpr(first, was) {
+			t.Fatalf("parts of a result of %s share memory", samples.Show(again))
 		}
 		inside(&first, func(part *api.Expr) {
 			kids := part.Kids
 			*part = api.Expr{Kind: api.EFar, N: 1, Name: "other", Kids: kids}
 		})
 		want(t, again, 0, was, to, api.OK)
-		if !same(second, was) {
-			t.Fatalf("two results of %s share memory", show(again))
+		if !samples.SameExpr(second, was) {
+			t.Fatalf("two results of %s share memory", samples.Show(again))
 		}
 		text := expr.Print(second)
 		inside(&second, func(part *api.Expr) { part.N, part.Name = 7, "other" })
@@ -435,9 +436,9 @@ func TestP1003ResultsStayAsTheyAre(t *testing.T) {
 }
 
 func TestP1003NoTwoPartsOfAResultShareMemory(t *testing.T) {
-	d := dice(10)
+	d := dice{10}
 	for range 500 {
-		l := tokens(t, d.text(1+d.roll(9)))
+		l := tokens(t, d.text(1+d.Roll(9)))
 		x, _, err := expr.Parse(l, 0)
 		if err != api.OK {
 			continue
@@ -445,12 +446,12 @@ func TestP1003NoTwoPartsOfAResultShareMemory(t *testing.T) {
 		seen := map[*api.Expr]bool{}
 		inside(&x, func(part *api.Expr) {
 			if seen[part] {
-				t.Fatalf("a part of the result of %s is there twice", show(l))
+				t.Fatalf("a part of the result of %s is there twice", samples.Show(l))
 			}
 			seen[part] = true
 			for i := range cap(part.Kids) - len(part.Kids) {
 				if spare := &part.Kids[:cap(part.Kids)][len(part.Kids)+i]; seen[spare] {
-					t.Fatalf("spare capacity of the result of %s is a part of it", show(l))
+					t.Fatalf("spare capacity of the result of %s is a part of it", samples.Show(l))
 				}
 			}
 		})
@@ -469,7 +470,7 @@ func TestP1003ResultsDependOnTheArgumentsOnly(t *testing.T) {
 				got, to, err := expr.Parse(l, 0)
 				_, wrongTo, wrongErr := expr.Parse(wrong, 0)
 				_, deepTo, deepErr := expr.Parse(deep, 0)
-				if err != api.OK || to != len(l)-1 || !same(got, x) || expr.Print(x) != text || !expr.Right(x) {
+				if err != api.OK || to != len(l)-1 || !samples.SameExpr(got, x) || expr.Print(x) != text || !expr.Right(x) {
 					t.Errorf("Parse: %v, %d, error %d", got, to, err)
 				}
 				if wrongTo != 4 || wrongErr != api.ErrSyntax || deepTo != api.MaxDeep || deepErr != api.ErrDeep {
