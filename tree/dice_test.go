@@ -2,7 +2,6 @@ package tree_test
 
 import (
 	"math"
-	"strings"
 
 	"puppeteer/api"
 	"puppeteer/expr"
@@ -146,19 +145,16 @@ func (d *dice) gap() string {
 	return pick(d, " ", " ", " ", "\n", "\t", "\r\n", "   ", "\n\n  ", " // x\n", "\t//\n", " // ok; } 'k :=\r\n\n", " //// 1\n //a\n ")
 }
 
-// lay lays tokens out as a text, and tells where each of them begins.
-func (d *dice) lay(list []string) (string, []int) {
-	var b strings.Builder
-	var at []int
-	b.WriteString(pick(d, "", "", d.gap()))
+// lay lays tokens out as a text.
+func (d *dice) lay(list []string) string {
+	text := pick(d, "", "", d.gap())
 	for i, one := range list {
-		at = append(at, b.Len())
-		b.WriteString(one)
+		text += one
 		if i+1 < len(list) && !apart(one, list[i+1]) || d.Roll(2) == 0 {
-			b.WriteString(d.gap())
+			text += d.gap()
 		}
 	}
-	return b.String(), at
+	return text
 }
 
 // apart tells whether a token is told from the one behind it without a gap.

@@ -336,7 +336,7 @@ func TestP1102RandomErrors(t *testing.T) {
 				}
 			}
 		}
-		laid, _ := d.lay(list)
+		laid := d.lay(list)
 		got[wantModelText(t, laid)]++
 	}
 	if got[api.OK] < 100 || got[api.ErrSyntax] < 2000 || got[api.ErrMany] < 20 {

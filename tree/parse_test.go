@@ -272,7 +272,7 @@ func TestP1102AsManyAsMayBe(t *testing.T) {
 	wantProgram(t, program(p), p)
 	d := dice{5}
 	for range 20 {
-		text, _ := d.lay(strings.Fields(strings.Join(writtenProgram(p, d.mix), " ")))
+		text := d.lay(strings.Fields(strings.Join(writtenProgram(p, d.mix), " ")))
 		wantProgram(t, text, p)
 	}
 }
@@ -315,7 +315,7 @@ func TestP1102RandomPrograms(t *testing.T) {
 		}
 		wantProgram(t, program(p), p)
 		l := some(t, strings.Join(writtenProgram(p, d.mix), " "))
-		text, _ := d.lay(texts(l))
+		text := d.lay(texts(l))
 		bytes += len(text)
 		if len(text) > api.MaxText {
 			wantError(t, text, 0, api.ErrLong)
