@@ -31,9 +31,6 @@ func aSign(s string) api.Token { return api.Token{Kind: api.TSign, Text: s} }
 
 func aWord(s string) api.Token { return api.Token{Kind: api.TWord, Text: s} }
 
-// longest is a name that is as long as a name may be.
-func longest() string { return strings.Repeat("n", api.MaxName) }
-
 // tokens returns the tokens of a text, with the TEnd.
 func tokens(t *testing.T, text string) []api.Token {
 	t.Helper()
@@ -165,7 +162,7 @@ func pick[T any](d *dice, list ...T) T { return samples.Pick(&d.Dice, list...) }
 // leaf is a valid expression without Kids.
 func (d *dice) leaf() api.Expr {
 	return pick(d, number(pick(d, 0, 1, -1, 7, -45, 1000, math.MaxInt, -math.MaxInt)), number(d.Roll(1<<30)-1<<29), truth(0), truth(1),
-		name(pick(d, "a", "B", "x_1", "selfish", "Not", longest())), sym(pick(d, "a", "B", "times", "Far", longest())), of(api.ESelf), of(api.ETime))
+		name(pick(d, "a", "B", "x_1", "selfish", "Not", samples.LongestName())), sym(pick(d, "a", "B", "times", "Far", samples.LongestName())), of(api.ESelf), of(api.ETime))
 }
 
 // valid is a valid expression of this depth.

@@ -15,8 +15,8 @@ import (
 func plain() map[string]api.Expr {
 	return map[string]api.Expr{
 		"1": number(1), "0": number(0), "42": number(42), "9223372036854775807": number(math.MaxInt),
-		"true": truth(1), "false": truth(0), "a": name("a"), "Z_9": name("Z_9"), "selfish": name("selfish"), longest(): name(longest()),
-		"'a": sym("a"), "' a": sym("a"), "'Z_9": sym("Z_9"), "'" + longest(): sym(longest()),
+		"true": truth(1), "false": truth(0), "a": name("a"), "Z_9": name("Z_9"), "selfish": name("selfish"), samples.LongestName(): name(samples.LongestName()),
+		"'a": sym("a"), "' a": sym("a"), "'Z_9": sym("Z_9"), "'" + samples.LongestName(): sym(samples.LongestName()),
 		"self": of(api.ESelf), "time": of(api.ETime),
 		"-1": number(-1), "- 1": number(-1), "-0": number(0), "-9223372036854775807": number(-math.MaxInt),
 	}
@@ -105,7 +105,7 @@ func TestP1001TokensThatNoTextHas(t *testing.T) {
 	everywhere(t, []api.Token{anInt(math.MinInt)}, api.Expr{}, 0, api.ErrSyntax)
 	everywhere(t, []api.Token{minus, anInt(math.MinInt)}, api.Expr{}, 1, api.ErrSyntax)
 	// The same holds for names.
-	for _, s := range []string{"", "seq", "not", "self", "true", "+", "1", "a b", "_", "é", longest() + "n", "a\x00"} {
+	for _, s := range []string{"", "seq", "not", "self", "true", "+", "1", "a b", "_", "é", samples.LongestName() + "n", "a\x00"} {
 		everywhere(t, []api.Token{aName(s)}, api.Expr{}, 0, api.ErrSyntax)
 		everywhere(t, []api.Token{aSign("'"), aName(s)}, api.Expr{}, 1, api.ErrSyntax)
 		everywhere(t, []api.Token{aName("a"), aSign("+"), aName(s), aSign(")")}, api.Expr{}, 2, api.ErrSyntax)

@@ -133,7 +133,7 @@ func TestP1002KindsThatThereAreNot(t *testing.T) {
 func TestP1002EveryFieldOfEveryKind(t *testing.T) {
 	for kind := -2; kind <= api.EFar+2; kind++ {
 		for _, n := range []int{0, 1, 2, -1, -2, 1 << 32, 1<<32 + 1, math.MaxInt, math.MinInt, math.MinInt + 1} {
-			for _, s := range []string{"", "a", "Z_9", "seq", "self", "true", "not", "a b", "9", "_", "'a", "é", "a\x00", " ", longest(), longest() + "n", strings.Repeat("n", 1<<16)} {
+			for _, s := range []string{"", "a", "Z_9", "seq", "self", "true", "not", "a b", "9", "_", "'a", "é", "a\x00", " ", samples.LongestName(), samples.LongestName() + "n", strings.Repeat("n", 1<<16)} {
 				for kids := range 5 {
 					for _, kid := range []api.Expr{name("b"), number(-1), {Kind: api.EBool, N: 2}} {
 						x := api.Expr{Kind: kind, N: n, Name: s, Kids: slices.Repeat([]api.Expr{kid}, kids)}

@@ -1,6 +1,6 @@
 // Package samples makes what the tests of several packages begin with: numbers that
-// look like chance, tokens of each sort, and lists of tokens in print. Only tests
-// use it.
+// look like chance, tokens of each sort and in print, and programs, their texts and
+// whether they are the same. Only tests use it.
 package samples
 
 import (
@@ -70,6 +70,23 @@ func Other(l []api.Token) []api.Token {
 	return l
 }
 
+// Text returns a token as it stands in a text.
+func Text(token api.Token) string {
+	if token.Kind == api.TInt {
+		return strconv.Itoa(token.N)
+	}
+	return token.Text
+}
+
+// Texts returns tokens as they stand in a text.
+func Texts(l []api.Token) []string {
+	var list []string
+	for _, token := range l {
+		list = append(list, Text(token))
+	}
+	return list
+}
+
 // Show is a list of tokens in print, of which only the beginning counts if it is
 // long.
 func Show(l []api.Token) string {
@@ -88,7 +105,20 @@ func Show(l []api.Token) string {
 	return b.String() + "(" + strconv.Itoa(len(l)) + " tokens)"
 }
 
-// SameExpr tells whether two expressions are equal.
-func SameExpr(x, y api.Expr) bool {
-	return x.Kind == y.Kind && x.N == y.N && x.Name == y.Name && slices.EqualFunc(x.Kids, y.Kids, SameExpr)
+// EveryOrder calls do for each order of a list.
+func EveryOrder(list []string, do func([]string)) {
+	list = slices.Clone(list)
+	var next func(n int)
+	next = func(n int) {
+		if n == len(list) {
+			do(list)
+			return
+		}
+		for i := n; i < len(list); i++ {
+			list[n], list[i] = list[i], list[n]
+			next(n + 1)
+			list[n], list[i] = list[i], list[n]
+		}
+	}
+	next(0)
 }

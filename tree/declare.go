@@ -1,6 +1,9 @@
 package tree
 
-import "puppeteer/api"
+import (
+	"puppeteer/api"
+	"puppeteer/syntax"
+)
 
 // program parses declarations up to the end.
 func (p *parser) program() api.Program {
@@ -33,9 +36,9 @@ func (p *parser) begins(word string, have, most int) bool {
 // key parses what follows the word key.
 func (p *parser) key() api.Key {
 	var k api.Key
-	k.Shared = p.choice([]string{"own", "shared"}) == 1
+	k.Shared = p.choice(syntax.Owners()) == 1
 	k.Name = p.Name()
-	k.Kind = p.choice([]string{api.KInt: "int", api.KBool: "bool", api.KRef: "ref", api.KSym: "sym", api.KPoint: "point"})
+	k.Kind = p.choice(syntax.Values())
 	p.Expect(";")
 	return k
 }
@@ -107,7 +110,7 @@ func (p *parser) act() api.Act {
 func (p *parser) cond() api.Cond {
 	var c api.Cond
 	c.Name = p.Name()
-	c.Op = p.choice([]string{api.CLeast: ">=", api.CMost: "<=", api.CSame: "=="})
+	c.Op = p.choice(syntax.Comparisons())
 	c.N = p.signed()
 	p.Expect(";")
 	return c

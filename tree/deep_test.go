@@ -164,7 +164,7 @@ func TestP1101ANodeThatIsNotTheFirstBetweenBracesIsAsDeep(t *testing.T) {
 	for i := range api.MaxKids {
 		around.Kids, around.Weights = append(around.Kids, kid), append(around.Weights, number(i))
 	}
-	wantWhole(t, strings.Join(written(around), " "), around)
+	wantWhole(t, strings.Join(samples.WrittenNode(around), " "), around)
 }
 
 func TestP1101ExpressionsAndNodesNestOnTheirOwn(t *testing.T) {

@@ -98,7 +98,7 @@ func TestP1102ATextThatEndsTooEarly(t *testing.T) {
 }
 
 func TestP1102EachTokenReplacedLeftOutOrDoubled(t *testing.T) {
-	list := texts(lexed(t, long()))
+	list := samples.Texts(lexed(t, long()))
 	list = list[:len(list)-1]
 	for i := range list {
 		wantInstead := func(more ...string) {
@@ -107,14 +107,14 @@ func TestP1102EachTokenReplacedLeftOutOrDoubled(t *testing.T) {
 		wantInstead()
 		wantInstead(list[i], list[i])
 		for _, token := range samples.Tokens() {
-			wantInstead(text(token))
-			wantInstead(text(token), list[i])
+			wantInstead(samples.Text(token))
+			wantInstead(samples.Text(token), list[i])
 		}
 	}
 }
 
 func TestP1102ErrorsOfTheLexer(t *testing.T) {
-	for _, wrong := range []string{"#", "]", "\"", "a1\x00", "_", "01", "1a", "9223372036854775808", longest() + "n", ">", "!", "\xff", "é", "&&", ".5", "@"} {
+	for _, wrong := range []string{"#", "]", "\"", "a1\x00", "_", "01", "1a", "9223372036854775808", samples.LongestName() + "n", ">", "!", "\xff", "é", "&&", ".5", "@"} {
 		_, off, err := lex.Tokens([]byte(wrong))
 		if err != api.ErrSyntax {
 			t.Fatalf("Tokens of %q: error %d", wrong, err)
@@ -314,15 +314,15 @@ func TestP1102RandomErrors(t *testing.T) {
 	d := dice{2211}
 	got := map[api.Errno]int{}
 	for range 6000 {
-		p := d.program(6)
-		list := texts(some(t, strings.Join(writtenProgram(p, d.mix), " ")))
+		p := d.Program(6)
+		list := samples.Texts(some(t, strings.Join(samples.Written(p, d.Mix), " ")))
 		for range 1 + d.Roll(3) {
 			i := d.Roll(len(list) + 1)
 			switch d.Roll(6) {
 			case 0:
 				list = slices.Delete(list, min(i, len(list)), min(i+1, len(list)))
 			case 1:
-				list = slices.Insert(list, i, text(pick(&d, samples.Tokens()...)))
+				list = slices.Insert(list, i, samples.Text(pick(&d, samples.Tokens()...)))
 			case 2:
 				list = slices.Insert(list, i, slices.Clone(list[d.Roll(i+1):i])...)
 			case 3:
@@ -332,11 +332,11 @@ func TestP1102RandomErrors(t *testing.T) {
 				list = list[:i]
 			default:
 				if i < len(list) {
-					list[i] = text(pick(&d, samples.Tokens()...))
+					list[i] = samples.Text(pick(&d, samples.Tokens()...))
 				}
 			}
 		}
-		laid := d.lay(list)
+		laid := d.Lay(list)
 		got[wantModelText(t, laid)]++
 	}
 	if got[api.OK] < 100 || got[api.ErrSyntax] < 2000 || got[api.ErrMany] < 20 {

@@ -71,8 +71,8 @@ func TestP1103NoTwoSlicesOfResultsShareMemory(t *testing.T) {
 	d := dice{1103}
 	for range 200 {
 		m := memory{}
-		n := d.node(1+d.Roll(12), d.Roll(60))
-		l := some(t, strings.Join(written(n), " "))
+		n := d.Node(1+d.Roll(12), d.Roll(60))
+		l := some(t, strings.Join(samples.WrittenNode(n), " "))
 		for range 3 {
 			got, _, err := tree.Node(l, 0)
 			if err != api.OK {
@@ -80,7 +80,7 @@ func TestP1103NoTwoSlicesOfResultsShareMemory(t *testing.T) {
 			}
 			m.node(t, got)
 		}
-		text := program(d.program(8))
+		text := program(d.Program(8))
 		for range 3 {
 			p, _, err := tree.Parse([]byte(text))
 			if err != api.OK {
@@ -95,16 +95,16 @@ func TestP1103ResultsAreTheCallers(t *testing.T) {
 	l := some(t, "seq { if a + 1 < 2; pick { a: set b := (1, 2); 3: repeat 4 ok; } }")
 	first, _, _ := tree.Node(l, 0)
 	second, _, _ := tree.Node(l, 0)
-	was := strings.Join(written(second), " ")
+	was := strings.Join(samples.WrittenNode(second), " ")
 	pick := &first.Kids[1]
 	pick.Weights[0], pick.Kids[0].Expr.Kids[0] = number(9), number(9)
 	pick.Kids[1].Kids[0], first.Kids[0].Expr.Kids[0] = node(api.NFail), number(9)
 	_ = append(first.Kids[:1], node(api.NWait))
-	if got := strings.Join(written(second), " "); got != was {
+	if got := strings.Join(samples.WrittenNode(second), " "); got != was {
 		t.Fatalf("%q has become %q", was, got)
 	}
 	third, _, _ := tree.Node(l, 0)
-	if !sameNode(third, second) {
+	if !samples.SameNode(third, second) {
 		t.Fatalf("Node now returns %v", third)
 	}
 	p, _, _ := tree.Parse([]byte(long()))
@@ -121,7 +121,7 @@ func TestP1103ResultsAreTheCallers(t *testing.T) {
 func TestP1103TokensStayAsTheyAre(t *testing.T) {
 	d := dice{1}
 	for range 500 {
-		l := append(some(t, strings.Join(written(d.node(1+d.Roll(9), d.Roll(30))), " ")), pick(&d, samples.Tokens()...), pick(&d, samples.Tokens()...))
+		l := append(some(t, strings.Join(samples.WrittenNode(d.Node(1+d.Roll(9), d.Roll(30))), " ")), pick(&d, samples.Tokens()...), pick(&d, samples.Tokens()...))
 		was := slices.Clone(l)
 		for range 10 {
 			tree.Node(l[:d.Roll(len(l)+1)], d.Roll(len(l)+1)-1)
@@ -135,13 +135,13 @@ func TestP1103TokensStayAsTheyAre(t *testing.T) {
 func TestP1103TokensAreNotKept(t *testing.T) {
 	d := dice{2}
 	for range 500 {
-		n := d.node(1+d.Roll(9), d.Roll(30))
-		l := some(t, strings.Join(written(n), " "))
+		n := d.Node(1+d.Roll(9), d.Roll(30))
+		l := some(t, strings.Join(samples.WrittenNode(n), " "))
 		got, _, _ := tree.Node(l, 0)
 		for i := range l {
 			l[i] = api.Token{Kind: api.TWord, N: 7, At: 7, Text: "not"}
 		}
-		if !sameNode(got, n) {
+		if !samples.SameNode(got, n) {
 			t.Fatalf("%v has become %v", n, got)
 		}
 		want(t, l, 0, api.Node{}, min(len(l), api.MaxDeep), map[bool]api.Errno{true: api.ErrDeep, false: api.ErrSyntax}[len(l) >= api.MaxDeep])
@@ -151,7 +151,7 @@ func TestP1103TokensAreNotKept(t *testing.T) {
 func TestP1103TheTextStaysAsItIs(t *testing.T) {
 	d := dice{3}
 	for range 300 {
-		text := program(d.program(6))
+		text := program(d.Program(6))
 		b := []byte(text + "; key own spare int;")
 		part := b[:len(text)]
 		if d.Roll(2) == 0 {
@@ -167,13 +167,13 @@ func TestP1103TheTextStaysAsItIs(t *testing.T) {
 func TestP1103TheTextIsNotKept(t *testing.T) {
 	d := dice{4}
 	for range 300 {
-		p := d.program(6)
+		p := d.Program(6)
 		b := []byte(program(p))
 		got, at, err := tree.Parse(b)
 		for i := range b {
 			b[i] = '#'
 		}
-		if at != len(b) || err != api.OK || !sameProgram(got, p) {
+		if at != len(b) || err != api.OK || !samples.SameProgram(got, p) {
 			t.Fatalf("%v has become %v", p, got)
 		}
 		if len(b) > 0 {
@@ -187,7 +187,7 @@ func TestP1103WhatLiesBehindTheTextDoesNotCount(t *testing.T) {
 	for _, behind := range []string{" key own z int;", "}", ";", "#", strings.Repeat(" ", api.MaxText)} {
 		p, at, err := tree.Parse([]byte(text + behind)[:len(text)])
 		q, _, _ := tree.Parse([]byte(text))
-		if at != len(text) || err != api.OK || !sameProgram(p, q) || len(p.Keys) != 5 {
+		if at != len(text) || err != api.OK || !samples.SameProgram(p, q) || len(p.Keys) != 5 {
 			t.Fatalf("%d, error %d: %v", at, err, p)
 		}
 	}
@@ -203,7 +203,7 @@ func TestP1103ResultsDependOnTheArgumentsOnly(t *testing.T) {
 	}
 	var calls []call
 	for range 100 {
-		text := program(d.program(5))
+		text := program(d.Program(5))
 		if d.Roll(2) == 0 {
 			text = text[:d.Roll(len(text)+1)]
 		}
@@ -218,10 +218,10 @@ func TestP1103ResultsDependOnTheArgumentsOnly(t *testing.T) {
 			for j := range 4 * len(calls) {
 				c := calls[(7*i+j)%len(calls)]
 				p, at, err := tree.Parse([]byte(c.text))
-				if at != c.at || err != c.err || !sameProgram(p, c.p) {
+				if at != c.at || err != c.err || !samples.SameProgram(p, c.p) {
 					t.Errorf("Parse of %.300q: %d, error %d, then %d, error %d", c.text, c.at, c.err, at, err)
 				}
-				if got, to, err := tree.Node(l, 0); to != len(l)-1 || err != api.OK || !sameNode(got, n) {
+				if got, to, err := tree.Node(l, 0); to != len(l)-1 || err != api.OK || !samples.SameNode(got, n) {
 					t.Errorf("Node: %v, %d, error %d", got, to, err)
 				}
 				if _, to, err := tree.Node(l[:len(l)-2], 0); to != len(l)-2 || err != api.ErrMany {

@@ -159,7 +159,7 @@ func (m *model) take(it item) {
 			m.wrong(api.ErrSyntax)
 			return
 		}
-		m.read(text(m.l[m.at]))
+		m.read(samples.Text(m.l[m.at]))
 	}
 }
 
@@ -174,11 +174,10 @@ func among(s, list string) bool {
 }
 
 func (m *model) node(deep int, s string) {
-	_, begins := kinds[s]
 	switch {
 	case deep > api.MaxDeep:
 		m.wrong(api.ErrDeep)
-	case !begins:
+	case !slices.Contains(samples.NodeWords(), s):
 		m.wrong(api.ErrSyntax)
 	default:
 		m.read(s)
@@ -312,10 +311,10 @@ func wantModel(t *testing.T, l []api.Token, at int) api.Errno {
 	if to != m.at || err != api.OK {
 		t.Fatalf("Node of %s from %d: %d, error %d; want %d", samples.Show(l), at, to, err, m.at)
 	}
-	if got := written(n); !slices.Equal(got, m.told) {
+	if got := samples.WrittenNode(n); !slices.Equal(got, m.told) {
 		t.Fatalf("Node of %s from %d: %q; want %q", samples.Show(l), at, got, m.told)
 	}
-	if !sameNode(n, stripped(n)) {
+	if !samples.SameNode(n, stripped(n)) {
 		t.Fatalf("Node of %s from %d: %v has fields that it should not have", samples.Show(l), at, n)
 	}
 	return api.OK
@@ -338,11 +337,11 @@ func wantModelText(t *testing.T, text string) api.Errno {
 	if at != len(text) || err != api.OK {
 		t.Fatalf("Parse of %.500q: %d, error %d", text, at, err)
 	}
-	if got := writtenProgram(p, inOrder); !slices.Equal(got, m.told) {
+	if got := samples.Written(p, samples.InOrder); !slices.Equal(got, m.told) {
 		t.Fatalf("Parse of %.500q: %q; want %q", text, got, m.told)
 	}
 	for _, one := range p.Trees {
-		if !sameNode(one.Root, stripped(one.Root)) {
+		if !samples.SameNode(one.Root, stripped(one.Root)) {
 			t.Fatalf("Parse of %.500q: %v has fields that it should not have", text, one)
 		}
 	}

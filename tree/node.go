@@ -1,6 +1,9 @@
 package tree
 
-import "puppeteer/api"
+import (
+	"puppeteer/api"
+	"puppeteer/syntax"
+)
 
 // node parses a node with all that is in it.
 func (p *parser) node() api.Node {
@@ -31,7 +34,7 @@ behind:
 
 // head parses a node up to the place where its first kid would begin.
 func (p *parser) head() api.Node {
-	n := api.Node{Kind: p.kind()}
+	n := api.Node{Kind: p.choice(syntax.Nodes())}
 	switch n.Kind {
 	case api.NPar:
 		n.A = p.Number()
@@ -47,7 +50,7 @@ func (p *parser) head() api.Node {
 	case api.NDo, api.NUse, api.NPlan:
 		n.Name = p.Name()
 	}
-	switch most := mostKids(n.Kind); {
+	switch most := syntax.MostKids(n.Kind); {
 	case most == 0:
 		p.Expect(";")
 	case most > 1:
@@ -56,44 +59,10 @@ func (p *parser) head() api.Node {
 	return n
 }
 
-// kind reads the word that a node begins with, and returns the node's kind.
-func (p *parser) kind() int {
-	return p.choice([]string{
-		api.NSeq:    "seq",
-		api.NSel:    "sel",
-		api.NMSeq:   "mseq",
-		api.NMSel:   "msel",
-		api.NPar:    "par",
-		api.NNot:    "not",
-		api.NRepeat: "repeat",
-		api.NIf:     "if",
-		api.NSet:    "set",
-		api.NDo:     "do",
-		api.NUse:    "use",
-		api.NPick:   "pick",
-		api.NPlan:   "plan",
-		api.NOk:     "ok",
-		api.NFail:   "fail",
-		api.NWait:   "wait",
-	})
-}
-
-// mostKids returns how many kids a node may have, which stand between braces if
-// they may be many.
-func mostKids(kind int) int {
-	switch kind {
-	case api.NSeq, api.NSel, api.NMSeq, api.NMSel, api.NPar, api.NPick:
-		return api.MaxKids
-	case api.NNot, api.NRepeat:
-		return 1
-	}
-	return 0
-}
-
 // another tells whether a kid follows behind those that n has, and reads what
 // stands ahead of it, or the brace that closes n.
 func (p *parser) another(n *api.Node) bool {
-	most := mostKids(n.Kind)
+	most := syntax.MostKids(n.Kind)
 	if most <= 1 {
 		return len(n.Kids) < most
 	}

@@ -17,35 +17,35 @@ import (
 func plain() map[string]api.Node {
 	a, one := key("a"), number(1)
 	return map[string]api.Node{
-		"ok ;":                       node(api.NOk),
-		"fail ;":                     node(api.NFail),
-		"wait ;":                     node(api.NWait),
-		"do a ;":                     named(api.NDo, "a"),
-		"use b_2 ;":                  named(api.NUse, "b_2"),
-		"plan " + longest() + " ;":   named(api.NPlan, longest()),
-		"if a ;":                     test(a),
-		"if 1 < a + 1 ;":             test(of(api.ELess, one, of(api.EAdd, a, one))),
-		"if - 1 ;":                   test(number(-1)),
-		"if 'a == a ;":               test(of(api.ESame, api.Expr{Kind: api.ESym, Name: "a"}, a)),
-		"set a := 1 ;":               set("a", one),
-		"set b := (a, 1) ;":          set("b", of(api.EPoint, a, one)),
-		"set a := not true ;":        set("a", of(api.ENot, api.Expr{Kind: api.EBool, N: 1})),
-		"not ok ;":                   node(api.NNot, node(api.NOk)),
-		"not do a ;":                 node(api.NNot, named(api.NDo, "a")),
-		"not not fail ;":             node(api.NNot, node(api.NNot, node(api.NFail))),
-		"not seq { ok ; wait ; }":    node(api.NNot, node(api.NSeq, node(api.NOk), node(api.NWait))),
-		"repeat 0 ok ;":              repeat(0, node(api.NOk)),
-		"repeat 5 use a ;":           repeat(5, named(api.NUse, "a")),
-		"repeat 2 repeat 3 wait ;":   repeat(2, repeat(3, node(api.NWait))),
-		"repeat 7 if a ;":            repeat(7, test(a)),
-		"seq { ok ; }":               node(api.NSeq, node(api.NOk)),
-		"seq { ok ; fail ; wait ; }": node(api.NSeq, node(api.NOk), node(api.NFail), node(api.NWait)),
-		"sel { do a ; do b ; }":      node(api.NSel, named(api.NDo, "a"), named(api.NDo, "b")),
-		"mseq { plan a ; }":          node(api.NMSeq, named(api.NPlan, "a")),
-		"msel { if a ; ok ; }":       node(api.NMSel, test(a), node(api.NOk)),
-		"par 1 2 { ok ; fail ; }":    par(1, 2, node(api.NOk), node(api.NFail)),
-		"par 0 17 { ok ; }":          par(0, 17, node(api.NOk)),
-		"pick { 1 : ok ; }":          choose(one, node(api.NOk)),
+		"ok ;":                                 node(api.NOk),
+		"fail ;":                               node(api.NFail),
+		"wait ;":                               node(api.NWait),
+		"do a ;":                               named(api.NDo, "a"),
+		"use b_2 ;":                            named(api.NUse, "b_2"),
+		"plan " + samples.LongestName() + " ;": named(api.NPlan, samples.LongestName()),
+		"if a ;":                               test(a),
+		"if 1 < a + 1 ;":                       test(of(api.ELess, one, of(api.EAdd, a, one))),
+		"if - 1 ;":                             test(number(-1)),
+		"if 'a == a ;":                         test(of(api.ESame, api.Expr{Kind: api.ESym, Name: "a"}, a)),
+		"set a := 1 ;":                         set("a", one),
+		"set b := (a, 1) ;":                    set("b", of(api.EPoint, a, one)),
+		"set a := not true ;":                  set("a", of(api.ENot, api.Expr{Kind: api.EBool, N: 1})),
+		"not ok ;":                             node(api.NNot, node(api.NOk)),
+		"not do a ;":                           node(api.NNot, named(api.NDo, "a")),
+		"not not fail ;":                       node(api.NNot, node(api.NNot, node(api.NFail))),
+		"not seq { ok ; wait ; }":              node(api.NNot, node(api.NSeq, node(api.NOk), node(api.NWait))),
+		"repeat 0 ok ;":                        repeat(0, node(api.NOk)),
+		"repeat 5 use a ;":                     repeat(5, named(api.NUse, "a")),
+		"repeat 2 repeat 3 wait ;":             repeat(2, repeat(3, node(api.NWait))),
+		"repeat 7 if a ;":                      repeat(7, test(a)),
+		"seq { ok ; }":                         node(api.NSeq, node(api.NOk)),
+		"seq { ok ; fail ; wait ; }":           node(api.NSeq, node(api.NOk), node(api.NFail), node(api.NWait)),
+		"sel { do a ; do b ; }":                node(api.NSel, named(api.NDo, "a"), named(api.NDo, "b")),
+		"mseq { plan a ; }":                    node(api.NMSeq, named(api.NPlan, "a")),
+		"msel { if a ; ok ; }":                 node(api.NMSel, test(a), node(api.NOk)),
+		"par 1 2 { ok ; fail ; }":              par(1, 2, node(api.NOk), node(api.NFail)),
+		"par 0 17 { ok ; }":                    par(0, 17, node(api.NOk)),
+		"pick { 1 : ok ; }":                    choose(one, node(api.NOk)),
 		"pick { 1 : ok ; a : fail ; a + 1 : do b ; }": choose(one, node(api.NOk), a, node(api.NFail), of(api.EAdd, a, one), named(api.NDo, "b")),
 		"seq { sel { ok ; } sel { fail ; } }":         node(api.NSeq, node(api.NSel, node(api.NOk)), node(api.NSel, node(api.NFail))),
 		"seq { not seq { ok ; } repeat 3 seq { fail ; } wait ; }": node(api.NSeq, node(api.NNot, node(api.NSeq, node(api.NOk))),
@@ -62,7 +62,7 @@ func TestP1101EachFormOfANode(t *testing.T) {
 	for text, n := range plain() {
 		wantWhole(t, text, n)
 		wantModel(t, lexed(t, text), 0)
-		if got := strings.Join(written(n), " "); strings.HasPrefix(text, "not") && got != text {
+		if got := strings.Join(samples.WrittenNode(n), " "); strings.HasPrefix(text, "not") && got != text {
 			t.Fatalf("%q is written as %q", text, got)
 		}
 	}
@@ -232,7 +232,7 @@ func TestP1101WordsAndSignsOfEitherKind(t *testing.T) {
 			l[i] = token
 		}
 	}
-	for word := range kinds {
+	for _, word := range samples.NodeWords() {
 		for _, kind := range []int{api.TEnd, api.TName, api.TInt, 5, -1} {
 			everywhere(t, append([]api.Token{{Kind: kind, N: 1, Text: word}}, some(t, "{ ok; }")...), api.Node{}, 0, api.ErrSyntax)
 		}
@@ -240,7 +240,7 @@ func TestP1101WordsAndSignsOfEitherKind(t *testing.T) {
 }
 
 func TestP1101NamesAndNumbersAreAnyTNameAndTInt(t *testing.T) {
-	for _, name := range []string{"", "a", "ok", "seq", "}", ";", "1", "a b", "é", longest() + "n"} {
+	for _, name := range []string{"", "a", "ok", "seq", "}", ";", "1", "a b", "é", samples.LongestName() + "n"} {
 		for word, kind := range map[string]int{"do": api.NDo, "use": api.NUse, "plan": api.NPlan} {
 			l := some(t, word+" a ;")
 			l[1].Text = name
@@ -474,8 +474,8 @@ func TestP1101RandomNodes(t *testing.T) {
 	d := dice{1101}
 	deepest := 0
 	for range 3000 {
-		n := d.node(1+d.Roll(api.MaxDeep), d.Roll(100))
-		text := strings.Join(written(n), " ")
+		n := d.Node(1+d.Roll(api.MaxDeep), d.Roll(100))
+		text := strings.Join(samples.WrittenNode(n), " ")
 		l := some(t, text)
 		want(t, l, 0, n, len(l), api.OK)
 		want(t, samples.Other(l), 0, n, len(l), api.OK)
@@ -491,7 +491,7 @@ func TestP1101RandomErrors(t *testing.T) {
 	d := dice{11}
 	got := map[api.Errno]int{}
 	for range 20000 {
-		l := some(t, strings.Join(written(d.node(1+d.Roll(12), d.Roll(50))), " "))
+		l := some(t, strings.Join(samples.WrittenNode(d.Node(1+d.Roll(12), d.Roll(50))), " "))
 		for range 1 + d.Roll(3) {
 			i := d.Roll(len(l))
 			switch d.Roll(6) {

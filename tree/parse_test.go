@@ -9,6 +9,7 @@ import (
 	"testing"
 
 	"puppeteer/api"
+	"puppeteer/samples"
 	"puppeteer/tree"
 )
 
@@ -17,7 +18,7 @@ func TestP1102AnEmptyTextIsTheZeroProgram(t *testing.T) {
 		wantProgram(t, text, api.Program{})
 	}
 	p, at, err := tree.Parse(nil)
-	if at != 0 || err != api.OK || !sameProgram(p, api.Program{}) {
+	if at != 0 || err != api.OK || !samples.SameProgram(p, api.Program{}) {
 		t.Fatalf("Parse of nil: %v, %d, error %d", p, at, err)
 	}
 }
@@ -30,20 +31,20 @@ func declared() map[string]api.Program {
 	}
 	domain := func(d api.Domain) api.Program { return api.Program{Domains: []api.Domain{d}} }
 	return map[string]api.Program{
-		"key own a int;":                         key(api.Key{Name: "a", Kind: api.KInt}),
-		"key own b bool;":                        key(api.Key{Name: "b", Kind: api.KBool}),
-		"key own c ref;":                         key(api.Key{Name: "c", Kind: api.KRef}),
-		"key own d sym;":                         key(api.Key{Name: "d", Kind: api.KSym}),
-		"key own e point;":                       key(api.Key{Name: "e", Kind: api.KPoint}),
-		"key shared f int;":                      key(api.Key{Name: "f", Kind: api.KInt, Shared: true}),
-		"key shared g bool;":                     key(api.Key{Name: "g", Kind: api.KBool, Shared: true}),
-		"key shared h ref;":                      key(api.Key{Name: "h", Kind: api.KRef, Shared: true}),
-		"key shared i sym;":                      key(api.Key{Name: "i", Kind: api.KSym, Shared: true}),
-		"key shared j point;":                    key(api.Key{Name: "j", Kind: api.KPoint, Shared: true}),
-		"key own " + longest() + " int;":         key(api.Key{Name: longest()}),
-		"tree t { ok; }":                         root("t", node(api.NOk)),
-		"tree u { not do t; }":                   root("u", node(api.NNot, named(api.NDo, "t"))),
-		"tree v_2 { seq { set a := 1; wait; } }": root("v_2", node(api.NSeq, set("a", number(1)), node(api.NWait))),
+		"key own a int;":                             key(api.Key{Name: "a", Kind: api.KInt}),
+		"key own b bool;":                            key(api.Key{Name: "b", Kind: api.KBool}),
+		"key own c ref;":                             key(api.Key{Name: "c", Kind: api.KRef}),
+		"key own d sym;":                             key(api.Key{Name: "d", Kind: api.KSym}),
+		"key own e point;":                           key(api.Key{Name: "e", Kind: api.KPoint}),
+		"key shared f int;":                          key(api.Key{Name: "f", Kind: api.KInt, Shared: true}),
+		"key shared g bool;":                         key(api.Key{Name: "g", Kind: api.KBool, Shared: true}),
+		"key shared h ref;":                          key(api.Key{Name: "h", Kind: api.KRef, Shared: true}),
+		"key shared i sym;":                          key(api.Key{Name: "i", Kind: api.KSym, Shared: true}),
+		"key shared j point;":                        key(api.Key{Name: "j", Kind: api.KPoint, Shared: true}),
+		"key own " + samples.LongestName() + " int;": key(api.Key{Name: samples.LongestName()}),
+		"tree t { ok; }":                             root("t", node(api.NOk)),
+		"tree u { not do t; }":                       root("u", node(api.NNot, named(api.NDo, "t"))),
+		"tree v_2 { seq { set a := 1; wait; } }":     root("v_2", node(api.NSeq, set("a", number(1)), node(api.NWait))),
 		"tree w { par 3 4 { pick { 5 : use t; } repeat 6 plan d; } }": root("w", par(3, 4, choose(number(5), named(api.NUse, "t")),
 			repeat(6, named(api.NPlan, "d")))),
 		"domain d { }":                  domain(api.Domain{Name: "d"}),
@@ -97,7 +98,7 @@ func TestP1102TwoDeclarations(t *testing.T) {
 func TestP1102DeclarationsInEveryOrder(t *testing.T) {
 	parts := []string{"key own a int;", "key shared i sym;", "tree t { ok; }", "tree u { not do t; }", "domain d { }", "domain d { goal v >= 5; }"}
 	all, n := declared(), 0
-	everyOrder(parts, func(list []string) {
+	samples.EveryOrder(parts, func(list []string) {
 		var p api.Program
 		for _, text := range list {
 			p = both(p, all[text])
@@ -111,25 +112,8 @@ func TestP1102DeclarationsInEveryOrder(t *testing.T) {
 	}
 }
 
-// everyOrder does it for each order of a list.
-func everyOrder(list []string, do func([]string)) {
-	var next func(n int)
-	next = func(n int) {
-		if n == len(list) {
-			do(list)
-			return
-		}
-		for i := n; i < len(list); i++ {
-			list[n], list[i] = list[i], list[n]
-			next(n + 1)
-			list[n], list[i] = list[i], list[n]
-		}
-	}
-	next(0)
-}
-
 func TestP1102ElementsOfADomainInEveryOrder(t *testing.T) {
-	everyOrder([]string{"var v 1 2;", "var w 3 4;", "act a cost 5 { }", "act b cost 6 { need v == 7; }", "goal v >= 8;", "goal w <= 9;"}, func(list []string) {
+	samples.EveryOrder([]string{"var v 1 2;", "var w 3 4;", "act a cost 5 { }", "act b cost 6 { need v == 7; }", "goal v >= 8;", "goal w <= 9;"}, func(list []string) {
 		d := api.Domain{Name: "d"}
 		for _, text := range list {
 			switch f := strings.Fields(text); f[0] {
@@ -150,7 +134,7 @@ func TestP1102ElementsOfADomainInEveryOrder(t *testing.T) {
 }
 
 func TestP1102NeedsAndMakesInEveryOrder(t *testing.T) {
-	everyOrder([]string{"need v == 1;", "need w >= 2;", "need v <= 3;", "make v = 4;", "make w + 5;", "make v - 6;"}, func(list []string) {
+	samples.EveryOrder([]string{"need v == 1;", "need w >= 2;", "need v <= 3;", "make v = 4;", "make w + 5;", "make v - 6;"}, func(list []string) {
 		a := api.Act{Name: "a", Cost: 1}
 		for _, text := range list {
 			switch text[len(text)-2] {
@@ -272,7 +256,7 @@ func TestP1102AsManyAsMayBe(t *testing.T) {
 	wantProgram(t, program(p), p)
 	d := dice{5}
 	for range 20 {
-		text := d.lay(strings.Fields(strings.Join(writtenProgram(p, d.mix), " ")))
+		text := d.Lay(strings.Fields(strings.Join(samples.Written(p, d.Mix), " ")))
 		wantProgram(t, text, p)
 	}
 }
@@ -309,13 +293,13 @@ func TestP1102RandomPrograms(t *testing.T) {
 	d := dice{1102}
 	bytes := 0
 	for range 1500 {
-		p := d.program(d.Roll(20))
+		p := d.Program(d.Roll(20))
 		if len(program(p)) > api.MaxText/3 {
 			continue
 		}
 		wantProgram(t, program(p), p)
-		l := some(t, strings.Join(writtenProgram(p, d.mix), " "))
-		text := d.lay(texts(l))
+		l := some(t, strings.Join(samples.Written(p, d.Mix), " "))
+		text := d.Lay(samples.Texts(l))
 		bytes += len(text)
 		if len(text) > api.MaxText {
 			wantError(t, text, 0, api.ErrLong)

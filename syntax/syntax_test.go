@@ -1,0 +1,51 @@
+package syntax_test
+
+import (
+	"math"
+	"slices"
+	"strings"
+	"testing"
+
+	"puppeteer/api"
+	"puppeteer/syntax"
+)
+
+func TestWordsStandAtTheirNumbers(t *testing.T) {
+	for want, list := range map[string][]string{
+		"seq sel mseq msel par not repeat if set do use pick plan ok fail wait": syntax.Nodes(),
+		"own shared":             syntax.Owners(),
+		"int bool ref sym point": syntax.Values(),
+		">= <= ==":               syntax.Comparisons(),
+	} {
+		if !slices.Equal(list, strings.Fields(want)) {
+			t.Fatalf("%q; want %q", list, want)
+		}
+	}
+}
+
+func TestListsAreTheCallers(t *testing.T) {
+	for _, list := range []func() []string{syntax.Nodes, syntax.Owners, syntax.Values, syntax.Comparisons} {
+		was := strings.Join(list(), " ")
+		clear(list())
+		if got := strings.Join(list(), " "); got != was {
+			t.Fatalf("%q has become %q", was, got)
+		}
+	}
+}
+
+func TestMostKids(t *testing.T) {
+	most := []int{16, 16, 16, 16, 16, 1, 1, 0, 0, 0, 0, 16, 0, 0, 0, 0}
+	for kind, n := range most {
+		if got := syntax.MostKids(kind); got != n {
+			t.Fatalf("MostKids of %d: %d; want %d", kind, got, n)
+		}
+	}
+	for _, kind := range []int{math.MinInt, -1, len(most), math.MaxInt} {
+		if got := syntax.MostKids(kind); got != 0 {
+			t.Fatalf("MostKids of %d: %d; want 0", kind, got)
+		}
+	}
+	if api.MaxKids != 16 {
+		t.Fatal("the numbers are those of other limits")
+	}
+}
