@@ -11,15 +11,6 @@ import (
 	"puppeteer/samples"
 )
 
-// odd lists numbers that are kinds of something, and such that are not.
-func odd() []int {
-	list := []int{math.MinInt, math.MinInt + 1, -1 << 40, -100, -2, -1, 1 << 40, math.MaxInt - 1, math.MaxInt}
-	for n := range 30 {
-		list = append(list, n)
-	}
-	return list
-}
-
 // ends calls Node and Print for a node that nothing returns, alone and in others: it
 // is specified only that this ends.
 func ends(n api.Node) {
@@ -33,7 +24,7 @@ func ends(n api.Node) {
 func TestP1201NodesOfOddFormsEnd(t *testing.T) {
 	ok, x := node(api.NOk), api.Expr{Kind: api.EName, Name: "a"}
 	expressions := []api.Expr{{}, x, {Kind: -1}, {Kind: 20}, {Kind: api.EAdd}, {Kind: api.ENot, Kids: []api.Expr{x, x}}, {Kind: api.EFar, Kids: []api.Expr{x}}, {N: math.MinInt}, {Kind: api.ESym, Name: "seq"}}
-	for _, kind := range odd() {
+	for _, kind := range samples.OddNumbers() {
 		for _, number := range []int{math.MinInt, -5, -1, 0, 1, math.MaxInt} {
 			for kids := range 4 {
 				for weights := range 4 {
@@ -48,7 +39,7 @@ func TestP1201NodesOfOddFormsEnd(t *testing.T) {
 				ends(api.Node{Kind: kind, Name: name, Expr: x, Kids: []api.Node{ok}, Weights: []api.Expr{x}})
 			}
 		}
-		for _, other := range odd() {
+		for _, other := range samples.OddNumbers() {
 			ends(node(kind, node(other), node(kind, node(other, ok))))
 		}
 	}
@@ -110,7 +101,7 @@ func TestP1201NodesThatAreInThemselvesEnd(t *testing.T) {
 }
 
 func TestP1201ProgramsOfOddFormsEnd(t *testing.T) {
-	for _, number := range odd() {
+	for _, number := range samples.OddNumbers() {
 		for _, name := range []string{"", "a", "key", ";\n", "é\x00", samples.LongestName() + "n"} {
 			cond := []api.Cond{{Name: name, Op: number, N: number}, {Name: name, Op: number}}
 			printer.Print(api.Program{

@@ -24,6 +24,15 @@ func (d *Dice) Roll(n int) int {
 // Pick returns one of a list that is not empty.
 func Pick[T any](d *Dice, list ...T) T { return list[d.Roll(len(list))] }
 
+// OddNumbers lists numbers that are kinds of something, and such that are not.
+func OddNumbers() []int {
+	list := []int{math.MinInt, math.MinInt + 1, -1 << 40, -100, -2, -1, 1 << 40, math.MaxInt - 1, math.MaxInt}
+	for n := range 30 {
+		list = append(list, n)
+	}
+	return list
+}
+
 const (
 	words = "key tree domain own shared int bool ref sym point seq sel mseq msel par not repeat if set do use pick plan ok fail wait var act cost need make goal true false self time and or re im turn far"
 	signs = ":= <= >= == { } ( ) ; : = < + - * / , '"
