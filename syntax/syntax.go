@@ -1,5 +1,6 @@
 // Package syntax tells what the texts of programs are made of, for package tree,
-// which reads them, and package printer, which writes them.
+// which reads them, package printer, which writes them, and package check, which
+// rejects what they cannot have.
 package syntax
 
 import "puppeteer/api"
