@@ -11,50 +11,26 @@ import (
 	"puppeteer/tree"
 )
 
-// A memory is what results take, place by place. An element of a slice, or of
-// its spare capacity, is a place.
-type memory map[any]bool
-
-// claim adds a slice, which must not be in the memory already.
-func claim[T any](t *testing.T, m memory, l []T) {
+// claim adds a slice to what results take, in which it must not be already.
+func claim[T any](t *testing.T, m samples.Memory, l []T) {
 	t.Helper()
-	l = l[:cap(l)]
-	for i := range l {
-		if m[&l[i]] {
-			t.Fatal("two slices share memory")
-		}
-		m[&l[i]] = true
+	wantFree(t, samples.Claim(m, l))
+}
+
+func wantFree(t *testing.T, free bool) {
+	t.Helper()
+	if !free {
+		t.Fatal("two slices share memory")
 	}
 }
 
-func (m memory) expr(t *testing.T, x api.Expr) {
-	t.Helper()
-	claim(t, m, x.Kids)
-	for _, kid := range x.Kids {
-		m.expr(t, kid)
-	}
-}
-
-func (m memory) node(t *testing.T, n api.Node) {
-	t.Helper()
-	claim(t, m, n.Kids)
-	claim(t, m, n.Weights)
-	m.expr(t, n.Expr)
-	for _, kid := range n.Kids {
-		m.node(t, kid)
-	}
-	for _, weight := range n.Weights {
-		m.expr(t, weight)
-	}
-}
-
-func (m memory) program(t *testing.T, p api.Program) {
+func claimProgram(t *testing.T, m samples.Memory, p api.Program) {
 	t.Helper()
 	claim(t, m, p.Keys)
 	claim(t, m, p.Trees)
 	claim(t, m, p.Domains)
 	for _, one := range p.Trees {
-		m.node(t, one.Root)
+		wantFree(t, m.Node(one.Root))
 	}
 	for _, d := range p.Domains {
 		claim(t, m, d.Vars)
@@ -70,7 +46,7 @@ func (m memory) program(t *testing.T, p api.Program) {
 func TestP1103NoTwoSlicesOfResultsShareMemory(t *testing.T) {
 	d := dice{1103}
 	for range 200 {
-		m := memory{}
+		m := samples.Memory{}
 		n := d.Node(1+d.Roll(12), d.Roll(60))
 		l := some(t, strings.Join(samples.WrittenNode(n), " "))
 		for range 3 {
@@ -78,7 +54,7 @@ func TestP1103NoTwoSlicesOfResultsShareMemory(t *testing.T) {
 			if err != api.OK {
 				t.Fatalf("Node of %s: error %d", samples.Show(l), err)
 			}
-			m.node(t, got)
+			wantFree(t, m.Node(got))
 		}
 		text := program(d.Program(8))
 		for range 3 {
@@ -86,7 +62,7 @@ func TestP1103NoTwoSlicesOfResultsShareMemory(t *testing.T) {
 			if err != api.OK {
 				t.Fatalf("Parse of %.500q: error %d", text, err)
 			}
-			m.program(t, p)
+			claimProgram(t, m, p)
 		}
 	}
 }
