@@ -1,0 +1,49 @@
+package inline
+
+import (
+	"math"
+
+	"puppeteer/api"
+)
+
+// mostExprs is how many expressions, of 56 bytes each, fit into an answer.
+const mostExprs = math.MaxInt32 / 56
+
+// copied returns a node's expression and weights in new memory, or ErrMany if they
+// do not fit into the answer any more.
+func (e *expander) copied(x api.Expr, weights []api.Expr) (api.Expr, []api.Expr, api.Errno) {
+	for _, list := range [][]api.Expr{{x}, weights} {
+		count, _ := measure(list, partsOf, e.room)
+		if count > e.room {
+			return api.Expr{}, nil, api.ErrMany
+		}
+		e.room -= count
+	}
+	return anew([]api.Expr{x})[0], anew(weights), api.OK
+}
+
+func partsOf(x *api.Expr) []api.Expr { return x.Kids }
+
+// anew copies expressions with all that is in them. They may be too deep for a
+// function that calls itself.
+func anew(list []api.Expr) []api.Expr {
+	list = moved(list)
+	rest := [][]api.Expr{list}
+	for len(rest) > 0 {
+		last := rest[len(rest)-1]
+		rest = rest[:len(rest)-1]
+		for i := range last {
+			x := &last[i]
+			if x.Kids = moved(x.Kids); len(x.Kids) > 0 {
+				rest = append(rest, x.Kids)
+			}
+		}
+	}
+	return list
+}
+
+// moved returns a list in new memory, of which an empty one has none, not even spare
+// capacity.
+func moved(list []api.Expr) []api.Expr {
+	return append([]api.Expr(nil), list...)
+}
