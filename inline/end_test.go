@@ -41,7 +41,7 @@ func TestP1402NodesThatAreInThemselves(t *testing.T) {
 						t.Fatal("a node that is in itself is expanded")
 					}
 					ends(t, n)
-					if count, depth := inline.Count(n), inline.Depth(n); count < math.MaxInt32 || depth < math.MaxInt32 {
+					if count, depth := inline.Count(n), inline.Depth(n); count != math.MaxInt || depth != math.MaxInt {
 						t.Fatalf("a node that is in itself has the Count %d and the Depth %d", count, depth)
 					}
 				}
@@ -66,7 +66,7 @@ func TestP1402NodesThatAreInEachOther(t *testing.T) {
 				if ends(t, n) == api.OK {
 					t.Fatal("nodes that are in each other are expanded")
 				}
-				if count, depth := inline.Count(n), inline.Depth(n); count < math.MaxInt32 || depth < math.MaxInt32 {
+				if count, depth := inline.Count(n), inline.Depth(n); count != math.MaxInt || depth != math.MaxInt {
 					t.Fatalf("nodes that are in each other have the Count %d and the Depth %d", count, depth)
 				}
 			}
@@ -191,7 +191,7 @@ func TestP1402MoreNodesThanMayBeGiven(t *testing.T) {
 		n = wide(api.MaxKids, n)
 	}
 	same(t, []api.Tree{named("t", n)}, "t", api.Node{}, api.ErrMany)
-	if got := inline.Count(n); got < math.MaxInt32 {
+	if got := inline.Count(n); got != math.MaxInt {
 		t.Fatalf("Count is %d", got)
 	}
 }

@@ -1,6 +1,9 @@
 package inline
 
-import "puppeteer/api"
+import (
+	"puppeteer/api"
+	"puppeteer/nest"
+)
 
 // An expander makes a tree in which nothing is a use.
 type expander struct {
@@ -9,7 +12,7 @@ type expander struct {
 	open   []bool         // for each tree, whether what is visited is in it
 
 	nodes int // so far
-	room  int // for expressions
+	exprs nest.Copier
 }
 
 // placesOf tells where the first tree of each name is.
@@ -39,8 +42,9 @@ func (e *expander) node(n api.Node, depth int) (api.Node, api.Errno) {
 	if n.Kids, err = e.kids(n.Kids, depth+1); err != api.OK {
 		return api.Node{}, err
 	}
-	if n.Expr, n.Weights, err = e.copied(n.Expr, n.Weights); err != api.OK {
-		return api.Node{}, err
+	var fit bool
+	if n.Expr, n.Weights, fit = e.exprs.Both(n.Expr, n.Weights); !fit {
+		return api.Node{}, api.ErrMany
 	}
 	for _, at := range opened {
 		e.open[at] = false

@@ -1,4 +1,4 @@
-package inline
+package nest
 
 import (
 	"math"
@@ -9,17 +9,22 @@ import (
 // mostExprs is how many expressions, of 56 bytes each, fit into an answer.
 const mostExprs = math.MaxInt32 / 56
 
-// copied returns a node's expression and weights in new memory, or ErrMany if they
-// do not fit into the answer any more.
-func (e *expander) copied(x api.Expr, weights []api.Expr) (api.Expr, []api.Expr, api.Errno) {
+// A Copier copies the expressions of one answer.
+type Copier struct {
+	copied int // so far
+}
+
+// Both returns an expression and weights in new memory, or false if they do not fit
+// into the answer any more.
+func (c *Copier) Both(x api.Expr, weights []api.Expr) (api.Expr, []api.Expr, bool) {
 	for _, list := range [][]api.Expr{{x}, weights} {
-		count, _ := measure(list, partsOf, e.room)
-		if count > e.room {
-			return api.Expr{}, nil, api.ErrMany
+		count, _ := Size(list, partsOf)
+		if count > mostExprs-c.copied {
+			return api.Expr{}, nil, false
 		}
-		e.room -= count
+		c.copied += count
 	}
-	return anew([]api.Expr{x})[0], anew(weights), api.OK
+	return anew([]api.Expr{x})[0], anew(weights), true
 }
 
 func partsOf(x *api.Expr) []api.Expr { return x.Kids }
