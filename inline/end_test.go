@@ -135,14 +135,7 @@ func TestP1402ExpressionsThatAreInThemselves(t *testing.T) {
 func TestP1401LargeAndDeepExpressionsStayAsTheyAre(t *testing.T) {
 	var list []api.Expr
 	for _, n := range []int{0, 1, 2, api.MaxDeep, 1000, 100_000} {
-		chain, both := api.Expr{N: n}, api.Expr{N: n}
-		for i := range n {
-			chain = api.Expr{Kind: i, N: -i, Name: "x", Kids: []api.Expr{chain}}
-		}
-		for i := range min(n, 14) {
-			both = api.Expr{Kind: i, N: -i, Name: "y", Kids: []api.Expr{both, {N: i}, both}}
-		}
-		list = append(list, chain, both, api.Expr{Kind: n, Kids: slices.Repeat([]api.Expr{{Kind: 5}, {N: n, Kids: make([]api.Expr, 2)}}, n)})
+		list = append(list, samples.LargeExprs(n)...)
 	}
 	for _, x := range list {
 		l := withExpr(x)
@@ -155,25 +148,20 @@ func TestP1401LargeAndDeepExpressionsStayAsTheyAre(t *testing.T) {
 	wantTree(t, []api.Tree{named("t", seq(all, use("u"))), named("u", all)}, "t", seq(all, all))
 }
 
-// many is an expression that holds n thousands of others.
-func many(n int) api.Expr {
-	return api.Expr{Kids: slices.Repeat([]api.Expr{{Kids: make([]api.Expr, 999)}}, n)}
-}
-
 func TestP1402MoreExpressionsThanFitIntoAnAnswer(t *testing.T) {
 	t.Parallel()
 	// They take 56 bytes each, and an answer no more than 2^31 - 1.
-	for _, x := range []api.Expr{many(38_348), many(100_000), {Kids: []api.Expr{many(38_348)}}} {
+	for _, x := range []api.Expr{samples.ManyExprs(38_348), samples.ManyExprs(100_000), {Kids: []api.Expr{samples.ManyExprs(38_348)}}} {
 		for _, one := range withExpr(x)[:5] {
 			same(t, []api.Tree{one}, one.Name, api.Node{}, api.ErrMany)
 		}
 	}
 	// Together with others, of the same node or of the nodes ahead of it.
 	for _, root := range []api.Node{
-		seq(api.Node{Expr: many(200)}, api.Node{Expr: many(38_200)}), seq(api.Node{Weights: []api.Expr{many(200)}}, ok(), api.Node{Weights: []api.Expr{many(38_200)}}), {Expr: many(200), Weights: []api.Expr{many(38_200)}},
-		{Weights: []api.Expr{many(200), many(38_200)}}, seq(use("u"), use("u"), nots(2, use("u")), use("u"), api.Node{Expr: many(38_200)}),
+		seq(api.Node{Expr: samples.ManyExprs(200)}, api.Node{Expr: samples.ManyExprs(38_200)}), seq(api.Node{Weights: []api.Expr{samples.ManyExprs(200)}}, ok(), api.Node{Weights: []api.Expr{samples.ManyExprs(38_200)}}), {Expr: samples.ManyExprs(200), Weights: []api.Expr{samples.ManyExprs(38_200)}},
+		{Weights: []api.Expr{samples.ManyExprs(200), samples.ManyExprs(38_200)}}, seq(use("u"), use("u"), nots(2, use("u")), use("u"), api.Node{Expr: samples.ManyExprs(38_200)}),
 	} {
-		same(t, []api.Tree{named("t", root), named("u", api.Node{Expr: many(50)})}, "t", api.Node{}, api.ErrMany)
+		same(t, []api.Tree{named("t", root), named("u", api.Node{Expr: samples.ManyExprs(50)})}, "t", api.Node{}, api.ErrMany)
 	}
 	x := api.Expr{N: 1}
 	for range 60 {

@@ -10,12 +10,6 @@ import (
 	"puppeteer/samples"
 )
 
-// rich is a node of a kind with all that a node may have.
-func rich(kind int, kids ...api.Node) api.Node {
-	x := api.Expr{Kind: api.EAdd, Kids: []api.Expr{{N: 1}, {Kind: api.EMul, Kids: []api.Expr{{N: 2}, {Kind: api.EName, Name: "x"}}}}}
-	return api.Node{Kind: kind, A: 1, B: 2, Name: "t", Expr: x, Weights: []api.Expr{x, {N: 3}, x}, Kids: kids}
-}
-
 // lists lists trees, of which t0 or t may be asked for: some are wrong.
 func lists(n int) [][]api.Tree {
 	var all [][]api.Tree
@@ -23,8 +17,8 @@ func lists(n int) [][]api.Tree {
 	for range n {
 		all = append(all, randomTrees(&d))
 	}
-	inner := rich(api.NPick, rich(api.NIf), rich(api.NSet), use("v"), rich(api.NPar, use("v"), rich(api.NOk)))
-	right := []api.Tree{named("t", rich(api.NSeq, use("u"), rich(api.NNot, use("u")), use("v"), rich(api.NUse))), named("u", inner), named("v", rich(api.NSel, rich(-5))), named("t", use("none"))}
+	inner := samples.RichNode(api.NPick, samples.RichNode(api.NIf), samples.RichNode(api.NSet), use("v"), samples.RichNode(api.NPar, use("v"), samples.RichNode(api.NOk)))
+	right := []api.Tree{named("t", samples.RichNode(api.NSeq, use("u"), samples.RichNode(api.NNot, use("u")), use("v"), samples.RichNode(api.NUse))), named("u", inner), named("v", samples.RichNode(api.NSel, samples.RichNode(-5))), named("t", use("none"))}
 	right[0].Root.Kids[3].Name = "v"
 	for _, last := range []api.Node{use("none"), use("t"), nots(50, ok()), wide(4000, ok())} {
 		wrong := slices.Clone(right)
@@ -60,7 +54,7 @@ func TestP1402TreesStayAsTheyAre(t *testing.T) {
 		same(t, l, name, root, err)
 		want(t, all, name, err)
 		// A caller may do with the result what it likes.
-		spoil(&root)
+		samples.SpoilNode(&root)
 		if !watch.Stays() {
 			t.Fatalf("the result of Tree of %q in %s is not the caller's", name, shown(l))
 		}
@@ -68,27 +62,6 @@ func TestP1402TreesStayAsTheyAre(t *testing.T) {
 	if got[api.OK] < 50 || len(got) < 5 {
 		t.Fatalf("the errors are %v", got)
 	}
-}
-
-// spoil changes all of a node, and the spare capacity of its slices.
-func spoil(n *api.Node) {
-	n.Kids, n.Weights = n.Kids[:cap(n.Kids)], n.Weights[:cap(n.Weights)]
-	spoilExpr(&n.Expr)
-	for i := range n.Weights {
-		spoilExpr(&n.Weights[i])
-	}
-	for i := range n.Kids {
-		spoil(&n.Kids[i])
-	}
-	n.Kind, n.A, n.B, n.Name = 99, 99, 99, "spoiled"
-}
-
-func spoilExpr(x *api.Expr) {
-	x.Kids = x.Kids[:cap(x.Kids)]
-	for i := range x.Kids {
-		spoilExpr(&x.Kids[i])
-	}
-	x.Kind, x.N, x.Name = 99, 99, "spoiled"
 }
 
 func TestP1402NoTwoSlicesOfResultsShareMemory(t *testing.T) {
@@ -131,7 +104,7 @@ func TestP1402AnEmptySliceKeepsNoMemory(t *testing.T) {
 		if err != api.OK {
 			t.Fatalf("Tree returns error %d", err)
 		}
-		spoil(&got)
+		samples.SpoilNode(&got)
 		for _, kid := range got.Kids[:2] {
 			_, _ = append(kid.Kids, fail()), append(kid.Weights, api.Expr{N: 9})
 			_ = append(kid.Expr.Kids, api.Expr{N: 9})
@@ -152,7 +125,7 @@ func TestP1402ResultsAreTheCallers(t *testing.T) {
 		root, err := modelTree(l, name)
 		first, _ := inline.Tree(l, name)
 		second, _ := inline.Tree(l, name)
-		spoil(&first)
+		samples.SpoilNode(&first)
 		if !samples.SameNode(second, root) {
 			t.Fatalf("the result of Tree of %q in %s has become %s", name, shown(l), shown(second))
 		}
@@ -162,7 +135,7 @@ func TestP1402ResultsAreTheCallers(t *testing.T) {
 		third, _ := inline.Tree(all, name)
 		for i := range all {
 			all[i].Name = "spoiled"
-			spoil(&all[i].Root)
+			samples.SpoilNode(&all[i].Root)
 		}
 		if !samples.SameNode(third, root) {
 			t.Fatalf("the result of Tree of %q in %s has become %s", name, shown(l), shown(third))

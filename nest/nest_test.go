@@ -2,7 +2,6 @@ package nest_test
 
 import (
 	"math"
-	"slices"
 	"testing"
 
 	"puppeteer/api"
@@ -92,7 +91,7 @@ func TestCopier(t *testing.T) {
 
 func TestCopierOfMoreThanFits(t *testing.T) {
 	const most = math.MaxInt32 / 56
-	many := api.Expr{Kids: slices.Repeat([]api.Expr{{Kids: make([]api.Expr, 999)}}, most/1000)}
+	many := samples.ManyExprs(most / 1000)
 	for ahead := range most % 1000 {
 		var c nest.Copier
 		if x, weights, fit := c.Both(api.Expr{}, make([]api.Expr, ahead)); !fit || len(x.Kids) > 0 || len(weights) != ahead {

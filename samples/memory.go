@@ -30,6 +30,13 @@ func (m Memory) Node(n api.Node) bool {
 	return Claim(m, n.Kids) && Claim(m, n.Weights) && m.Expr(n.Expr) && every(n.Weights, m.Expr) && every(n.Kids, m.Node)
 }
 
+// Flats adds a list of flat nodes with its slices, as Claim does.
+func (m Memory) Flats(l []api.Flat) bool {
+	return Claim(m, l) && every(l, func(f api.Flat) bool {
+		return Claim(m, f.Weights) && m.Expr(f.Expr) && every(f.Weights, m.Expr)
+	})
+}
+
 func every[T any](l []T, right func(T) bool) bool {
 	return !slices.ContainsFunc(l, func(one T) bool { return !right(one) })
 }
@@ -64,4 +71,13 @@ func WideTrees(l []api.Tree) []api.Tree {
 	return wide(l, func(t api.Tree) api.Tree {
 		return api.Tree{Name: t.Name, Root: WideNode(t.Root)}
 	}, api.Tree{Name: "spare"})
+}
+
+// WideFlats copies a list of flat nodes as WideExpr does an expression.
+func WideFlats(l []api.Flat) []api.Flat {
+	return wide(l, func(f api.Flat) api.Flat {
+		f.Expr = WideExpr(f.Expr)
+		f.Weights = wide(f.Weights, WideExpr, api.Expr{Kind: api.EBool, N: 1})
+		return f
+	}, api.Flat{Kind: api.NUse, Name: "spare", Parent: -1})
 }

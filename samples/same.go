@@ -17,6 +17,18 @@ func SameNode(m, n api.Node) bool {
 		slices.EqualFunc(m.Kids, n.Kids, SameNode) && slices.EqualFunc(m.Weights, n.Weights, SameExpr)
 }
 
+// SameFlats tells whether two lists of flat nodes are equal.
+func SameFlats(l, other []api.Flat) bool {
+	return slices.EqualFunc(l, other, func(f, g api.Flat) bool {
+		return sameFields(f, g) && SameExpr(f.Expr, g.Expr) && slices.EqualFunc(f.Weights, g.Weights, SameExpr)
+	})
+}
+
+// sameFields tells whether two flat nodes have equal fields, but for expressions.
+func sameFields(f, g api.Flat) bool {
+	return f.Kind == g.Kind && f.A == g.A && f.B == g.B && f.End == g.End && f.Parent == g.Parent && f.Name == g.Name
+}
+
 func sameTree(s, t api.Tree) bool {
 	return s.Name == t.Name && SameNode(s.Root, t.Root)
 }

@@ -52,6 +52,14 @@ func (w *Watch) Trees(l []api.Tree) {
 	}
 }
 
+// Flats adds a list of flat nodes with all that is in it.
+func (w *Watch) Flats(l []api.Flat) {
+	Add(w, l, likeFlat)
+	for _, f := range l {
+		w.Node(api.Node{Expr: f.Expr, Weights: f.Weights})
+	}
+}
+
 // likeExpr tells whether two expressions are the same and have the same slice.
 func likeExpr(x, y api.Expr) bool {
 	return x.Kind == y.Kind && x.N == y.N && x.Name == y.Name && like(x.Kids, y.Kids)
@@ -60,6 +68,10 @@ func likeExpr(x, y api.Expr) bool {
 func likeNode(m, n api.Node) bool {
 	return m.Kind == n.Kind && m.A == n.A && m.B == n.B && m.Name == n.Name && likeExpr(m.Expr, n.Expr) &&
 		like(m.Kids, n.Kids) && like(m.Weights, n.Weights)
+}
+
+func likeFlat(f, g api.Flat) bool {
+	return sameFields(f, g) && likeExpr(f.Expr, g.Expr) && like(f.Weights, g.Weights)
 }
 
 // like tells whether two slices are one, with the same spare capacity.
