@@ -9,6 +9,7 @@ import (
 	"puppeteer/expr"
 	"puppeteer/lex"
 	"puppeteer/printer"
+	"puppeteer/samples"
 	"puppeteer/tree"
 )
 
@@ -36,14 +37,9 @@ func program(t *testing.T, text string) api.Program {
 	return p
 }
 
-// ten lists a key of each kind, and a shared one of each.
-func ten() []api.Key {
-	return []api.Key{
-		{Name: "i", Kind: api.KInt}, {Name: "b", Kind: api.KBool}, {Name: "r", Kind: api.KRef}, {Name: "s", Kind: api.KSym}, {Name: "p", Kind: api.KPoint},
-		{Name: "I", Kind: api.KInt, Shared: true}, {Name: "B", Kind: api.KBool, Shared: true}, {Name: "R", Kind: api.KRef, Shared: true},
-		{Name: "S", Kind: api.KSym, Shared: true}, {Name: "P", Kind: api.KPoint, Shared: true},
-	}
-}
+func name(text string) api.Expr { return api.Expr{Kind: api.EName, Name: text} }
+
+func ten() []api.Key { return samples.TenKeys() }
 
 // tenKeys is a text that declares these keys.
 const tenKeys = "key own i int; key own b bool; key own r ref; key own s sym; key own p point;" +

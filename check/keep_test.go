@@ -85,8 +85,8 @@ func programs(t *testing.T, n int) []api.Program {
 		list = append(list, program(t, one.text), program(t, pieces()[(i*7)%len(pieces())].with("B").text+one.text))
 	}
 	for seed := range n {
-		d := dice{Dice: samples.Dice(seed), wrongs: 5 * (seed % 3)}
-		list = append(list, d.program())
+		d := samples.Maker{Dice: samples.Dice(seed), Wrongs: 5 * (seed % 3)}
+		list = append(list, d.Program())
 	}
 	return list
 }
@@ -128,8 +128,8 @@ func TestP1303ProgramsStayAsTheyAre(t *testing.T) {
 
 func TestP1303ExpressionsAndKeysStayAsTheyAre(t *testing.T) {
 	for seed := range 1000 {
-		d := dice{Dice: samples.Dice(seed), wrongs: 20 * (seed % 2)}
-		x, l := spreadOf(d.expr(d.Roll(5), 1+d.Roll(4))), spreadOf(ten())
+		d := samples.Maker{Dice: samples.Dice(seed), Wrongs: 20 * (seed % 2)}
+		x, l := spreadOf(d.Expr(d.Roll(5), 1+d.Roll(4))), spreadOf(ten())
 		was, wasKeys := shown(x), shown(l)
 		kind, err := check.Kind(x, l)
 		if shown(x) != was || shown(l) != wasKeys {

@@ -381,8 +381,8 @@ func TestP1301EveryPairOfFormsInEachOther(t *testing.T) {
 func TestP1301RandomExpressions(t *testing.T) {
 	got := map[string]int{}
 	for seed := range 20000 {
-		d := dice{Dice: samples.Dice(seed), wrongs: []int{0, 3, 10, 40}[seed%4]}
-		x := d.expr(d.Roll(5), 1+d.Roll(12))
+		d := samples.Maker{Dice: samples.Dice(seed), Wrongs: []int{0, 3, 10, 40}[seed%4]}
+		x := d.Expr(d.Roll(5), 1+d.Roll(12))
 		kind, err := modelKind(x, ten())
 		got[fmt.Sprint(kind, err)]++
 		wantKind(t, x, ten(), kind, err)

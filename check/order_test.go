@@ -75,12 +75,12 @@ func TestP1302TheEarlierCheckCounts(t *testing.T) {
 }
 
 func TestP1302TheErrorsOfAllSixChecksInOneProgram(t *testing.T) {
-	d := dice{Dice: 6}
+	d := samples.Dice(6)
 	got := map[int]int{}
 	for range 3000 {
 		var list []piece
 		for i := range 1 + d.Roll(6) {
-			list = append(list, pick(&d, pieces()...).with(string(rune('A'+i))))
+			list = append(list, samples.Pick(&d, pieces()...).with(string(rune('A'+i))))
 		}
 		text := ""
 		for _, one := range list {
@@ -121,11 +121,11 @@ func TestP1302KeysThatNoTextHasComeAheadOfAll(t *testing.T) {
 func TestP1302RandomPrograms(t *testing.T) {
 	got := map[string]int{}
 	for seed := range 12000 {
-		d := dice{Dice: samples.Dice(seed), wrongs: []int{0, 1, 3, 10, 30}[seed%5]}
-		p := d.program()
+		d := samples.Maker{Dice: samples.Dice(seed), Wrongs: []int{0, 1, 3, 10, 30}[seed%5]}
+		p := d.Program()
 		f := modelCheck(p)
 		got[fmt.Sprint(f.check, " ", f.err)]++
-		if d.wrongs == 0 && f.check > 0 && f.check < 6 {
+		if d.Wrongs == 0 && f.check > 0 && f.check < 6 {
 			t.Fatalf("%v is wrong: %v", p, f)
 		}
 		want(t, p, f.name, f.err)

@@ -7,6 +7,7 @@ import (
 	"testing"
 
 	"puppeteer/api"
+	"puppeteer/samples"
 )
 
 func TestP1302TheTreesOfARing(t *testing.T) {
@@ -81,7 +82,7 @@ func TestP1302EveryGraphOfFewTrees(t *testing.T) {
 			t.Fatalf("of %d trees, %d have rings; want %d", n, rings, want)
 		}
 	}
-	d := dice{Dice: 1302}
+	d := samples.Dice(1302)
 	rings := 0
 	for range 4000 {
 		// Few uses, of four to seven trees.
@@ -325,7 +326,7 @@ func TestP1302TheFirstTreeThatIsTooDeepOrTooLarge(t *testing.T) {
 
 func TestP1302RandomSizes(t *testing.T) {
 	got := map[api.Errno]int{}
-	d := dice{Dice: 71302}
+	d := samples.Dice(71302)
 	for range 800 {
 		n := 1 + d.Roll(16)
 		text := ""
@@ -335,7 +336,7 @@ func TestP1302RandomSizes(t *testing.T) {
 				var list []string
 				for range 1 + d.Roll(8) {
 					use := fmt.Sprintf("use t%d;", i+1+d.Few(min(2, n-i-2)))
-					list = append(list, pick(&d, use, use, use, "ok;", nots(1+d.Roll(10), "ok;"), sized(1+d.Roll(40), "ok;")))
+					list = append(list, samples.Pick(&d, use, use, use, "ok;", nots(1+d.Roll(10), "ok;"), sized(1+d.Roll(40), "ok;")))
 				}
 				inner = "seq { " + strings.Join(list, " ") + " }"
 			}
