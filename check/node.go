@@ -5,9 +5,6 @@ import (
 	"puppeteer/syntax"
 )
 
-// mostTimes is how often an NRepeat may repeat its node.
-const mostTimes = 1000
-
 // checkNodes checks each tree, node by node.
 func (c *checker) checkNodes(p api.Program) (string, api.Errno) {
 	return firstTree(p.Trees, func(t api.Tree) api.Errno { return c.node(t.Root) })
@@ -20,22 +17,13 @@ func (c *checker) node(n api.Node) api.Errno {
 	if c.nodes > api.MaxText {
 		return api.ErrMany
 	}
-	if !formed(n) {
+	if !syntax.MayHave(n.Kind, len(n.Kids), len(n.Weights)) {
 		return api.ErrArg
 	}
 	if err := c.alone(n); err != api.OK {
 		return err
 	}
 	return first(n.Kids, c.node)
-}
-
-// formed tells whether there is such a kind of nodes, with as many kids and weights.
-func formed(n api.Node) bool {
-	kids, weights := syntax.MostKids(n.Kind), 0
-	if n.Kind == api.NPick {
-		weights = len(n.Kids)
-	}
-	return within(n.Kind, api.NSeq, api.NWait) && within(len(n.Kids), min(kids, 1), kids) && len(n.Weights) == weights
 }
 
 // alone checks a node without its kids.
@@ -59,7 +47,7 @@ func (c *checker) alone(n api.Node) api.Errno {
 	case api.NPar:
 		return errUnless(within(n.A, 1, len(n.Kids)) && within(n.B, 1, len(n.Kids)), api.ErrArg)
 	case api.NRepeat:
-		return errUnless(within(n.A, 1, mostTimes), api.ErrArg)
+		return errUnless(within(n.A, 1, syntax.MostTimes), api.ErrArg)
 	}
 	return api.OK
 }

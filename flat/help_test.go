@@ -56,6 +56,9 @@ func wantBack(t *testing.T, l []api.Flat, want api.Node) {
 	if got, back := flat.Back(l); !back || !samples.SameNode(got, want) {
 		t.Fatalf("Back of %s: %s, %t; want %s", shown(l), shown(got), back, shown(want))
 	}
+	if !flat.IsTree(l) {
+		t.Fatalf("IsTree of %s: false", shown(l))
+	}
 }
 
 // wantNone checks that Back answers that a list is no node's.
@@ -63,6 +66,9 @@ func wantNone(t *testing.T, l []api.Flat) {
 	t.Helper()
 	if got, back := flat.Back(l); back || !reflect.DeepEqual(got, api.Node{}) {
 		t.Fatalf("Back of %s: %s, %t; want none", shown(l), shown(got), back)
+	}
+	if flat.IsTree(l) {
+		t.Fatalf("IsTree of %s: true", shown(l))
 	}
 }
 

@@ -11,20 +11,29 @@ const mostExprs = math.MaxInt32 / 56
 
 // A Copier copies the expressions of one answer.
 type Copier struct {
-	copied int // so far
+	counted int // so far
 }
 
 // Both returns an expression and weights in new memory, or false if they do not fit
 // into the answer any more.
 func (c *Copier) Both(x api.Expr, weights []api.Expr) (api.Expr, []api.Expr, bool) {
-	for _, list := range [][]api.Expr{{x}, weights} {
-		count, _ := Size(list, partsOf)
-		if count > mostExprs-c.copied {
-			return api.Expr{}, nil, false
-		}
-		c.copied += count
+	if !c.Fit(x, weights) {
+		return api.Expr{}, nil, false
 	}
 	return anew([]api.Expr{x})[0], anew(weights), true
+}
+
+// Fit counts an expression and weights as Both does, without copying them, and reports
+// whether they fit.
+func (c *Copier) Fit(x api.Expr, weights []api.Expr) bool {
+	for _, list := range [][]api.Expr{{x}, weights} {
+		count, _ := Size(list, partsOf)
+		if count > mostExprs-c.counted {
+			return false
+		}
+		c.counted += count
+	}
+	return true
 }
 
 func partsOf(x *api.Expr) []api.Expr { return x.Kids }

@@ -81,6 +81,9 @@ func TestCopier(t *testing.T) {
 			all := api.Node{Expr: x, Weights: weights}
 			var watch samples.Watch
 			watch.Node(all)
+			if d.Roll(2) == 0 && !c.Fit(x, weights) {
+				t.Fatalf("%v and %v do not fit", x, weights)
+			}
 			y, own, fit := c.Both(x, weights)
 			if got := (api.Node{Expr: y, Weights: own}); !fit || !samples.SameNode(got, all) || !m.Node(got) || !m.Node(all) || !watch.Stays() {
 				t.Fatalf("Both of %v and %v: %v and %v, %t", x, weights, y, own, fit)
@@ -100,6 +103,21 @@ func TestCopierOfMoreThanFits(t *testing.T) {
 		rest := make([]api.Expr, most%1000-1-ahead)
 		if x, weights, fit := c.Both(many, rest); fit || weights != nil || len(x.Kids) > 0 {
 			t.Fatal("one more than fits is copied")
+		}
+	}
+}
+
+func TestFit(t *testing.T) {
+	const most = math.MaxInt32 / 56
+	many := samples.ManyExprs(most / 1000) // and itself
+	for ahead := range most%1000 - 1 {
+		var full, over nest.Copier
+		some, rest := make([]api.Expr, ahead), make([]api.Expr, most%1000-1-ahead)
+		if _, _, fit := full.Both(api.Expr{}, some); !fit || !full.Fit(many, rest[1:]) || full.Fit(api.Expr{}, nil) {
+			t.Fatalf("with %d weights ahead, what fits does not, or one more does", ahead)
+		}
+		if !over.Fit(api.Expr{}, some) || over.Fit(many, rest) {
+			t.Fatalf("with %d weights ahead, one more fits", ahead)
 		}
 	}
 }

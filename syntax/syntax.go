@@ -1,9 +1,12 @@
 // Package syntax tells what the texts of programs are made of, for package tree,
-// which reads them, package printer, which writes them, and package check, which
-// rejects what they cannot have.
+// which reads them, package printer, which writes them, and the packages check and
+// valid, which reject what they cannot have.
 package syntax
 
 import "puppeteer/api"
+
+// MostTimes is how often a node may be repeated.
+const MostTimes = 1000
 
 // Nodes lists the words that nodes begin with, each at its kind.
 func Nodes() []string {
@@ -37,6 +40,16 @@ func MostKids(kind int) int {
 		return 1
 	}
 	return 0
+}
+
+// MayHave reports whether there is such a kind of nodes, and a node of it may have so
+// many kids and weights.
+func MayHave(kind, kids, weights int) bool {
+	most, want := MostKids(kind), 0
+	if kind == api.NPick {
+		want = kids
+	}
+	return api.NSeq <= kind && kind <= api.NWait && min(most, 1) <= kids && kids <= most && weights == want
 }
 
 // Owners lists the words for keys that are not shared, and for those that are.

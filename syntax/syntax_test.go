@@ -49,3 +49,26 @@ func TestMostKids(t *testing.T) {
 		t.Fatal("the numbers are those of other limits")
 	}
 }
+
+func TestMayHave(t *testing.T) {
+	least := []int{1, 1, 1, 1, 1, 1, 1, 0, 0, 0, 0, 1, 0, 0, 0, 0}
+	numbers := []int{math.MinInt, -2, -1, 0, 1, 2, 3, 15, 16, 17, 18, 1 << 32, math.MaxInt - 1, math.MaxInt}
+	for _, kind := range append(numbers, 4, 5, 6, 7, 8, 9, 10, 11, 12, 13, 14) {
+		for _, kids := range numbers {
+			for _, weights := range numbers {
+				want := kind >= 0 && kind < len(least) && kids >= least[kind] && kids <= syntax.MostKids(kind)
+				if kind == api.NPick {
+					want = want && weights == kids
+				} else {
+					want = want && weights == 0
+				}
+				if got := syntax.MayHave(kind, kids, weights); got != want {
+					t.Fatalf("MayHave of %d, %d, %d: %t; want %t", kind, kids, weights, got, want)
+				}
+			}
+		}
+	}
+	if syntax.MostTimes != 1000 {
+		t.Fatal("a node may be repeated another number of times")
+	}
+}
