@@ -138,17 +138,11 @@ func TestP1501BackOfRandomLists(t *testing.T) {
 			at := &l[d.Roll(len(l))]
 			switch d.Roll(6) {
 			case 0:
-				at.End += d.Roll(5) - 2
-			case 1:
-				at.Parent += d.Roll(5) - 2
-			case 2:
-				at.End = d.Roll(len(l) + 2)
-			case 3:
-				at.Parent = d.Roll(len(l)+2) - 1
-			case 4:
 				at.Kind, at.A, at.Name = d.Signed(), d.Signed(), d.Name()
-			case 5:
+			case 1:
 				*at = samples.Pick(&d, l...)
+			default:
+				d.Misplace(l)
 			}
 		}
 		if wantModel(t, l) {

@@ -111,24 +111,16 @@ func withExpr(x api.Expr) []api.Tree {
 }
 
 func TestP1402ExpressionsThatAreInThemselves(t *testing.T) {
-	for kind := -1; kind <= api.EFar+1; kind++ {
-		for width := 1; width <= 3; width++ {
-			for from := range width {
-				kids := make([]api.Expr, width)
-				for i := from; i < width; i++ {
-					kids[i] = api.Expr{Kind: kind, Kids: kids}
-				}
-				l := withExpr(kids[from])
-				for _, one := range l {
-					if root, err := inline.Tree(l, one.Name); err == api.OK || !samples.SameNode(root, api.Node{}) {
-						t.Fatalf("Tree of %q returns error %d", one.Name, err)
-					}
-				}
-				wantSize(t, l[3].Root, 3, 2)
-				// They do not count where they are not used.
-				wantTree(t, append([]api.Tree{named("t", seq(ok(), use("u"))), named("u", fail())}, l...), "t", seq(ok(), fail()))
+	for _, x := range samples.RingExprs() {
+		l := withExpr(x)
+		for _, one := range l {
+			if root, err := inline.Tree(l, one.Name); err == api.OK || !samples.SameNode(root, api.Node{}) {
+				t.Fatalf("Tree of %q returns error %d", one.Name, err)
 			}
 		}
+		wantSize(t, l[3].Root, 3, 2)
+		// They do not count where they are not used.
+		wantTree(t, append([]api.Tree{named("t", seq(ok(), use("u"))), named("u", fail())}, l...), "t", seq(ok(), fail()))
 	}
 }
 

@@ -25,6 +25,23 @@ func LargeExprs(n int) []api.Expr {
 	return []api.Expr{chain, both, {Kind: n, Kids: slices.Repeat([]api.Expr{{Kind: 5}, {N: n, Kids: make([]api.Expr, 2)}}, n)}}
 }
 
+// RingExprs lists expressions of all kinds, and of others, that are in themselves.
+func RingExprs() []api.Expr {
+	var all []api.Expr
+	for kind := -1; kind <= api.EFar+1; kind++ {
+		for width := 1; width <= 3; width++ {
+			for from := range width {
+				kids := make([]api.Expr, width)
+				for i := from; i < width; i++ {
+					kids[i] = api.Expr{Kind: kind, Kids: kids}
+				}
+				all = append(all, kids[from], api.Expr{Kids: kids})
+			}
+		}
+	}
+	return all
+}
+
 // ManyExprs is an expression that holds n thousands of others, in little memory.
 func ManyExprs(n int) api.Expr {
 	return api.Expr{Kids: slices.Repeat([]api.Expr{{Kids: make([]api.Expr, 999)}}, n)}

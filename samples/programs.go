@@ -86,6 +86,21 @@ func (d *Dice) Node(deep, n int) api.Node {
 	return api.Node{Kind: Pick(d, api.NSeq, api.NSel, api.NMSeq, api.NMSel), Kids: kids}
 }
 
+// Misplace changes what an element of a list says of its place.
+func (d *Dice) Misplace(l []api.Flat) {
+	f := &l[d.Roll(len(l))]
+	switch d.Roll(4) {
+	case 0:
+		f.End += d.Roll(5) - 2
+	case 1:
+		f.Parent += d.Roll(5) - 2
+	case 2:
+		f.End = d.Roll(len(l) + 2)
+	case 3:
+		f.Parent = d.Roll(len(l)+2) - 1
+	}
+}
+
 func (d *Dice) cond() api.Cond {
 	return api.Cond{Name: d.Name(), Op: d.Roll(3), N: d.Signed()}
 }
